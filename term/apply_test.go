@@ -1,7 +1,6 @@
 package term
 
 import (
-	"math"
 	"slices"
 	"testing"
 
@@ -204,51 +203,6 @@ func TestNothingIsTurned(t *testing.T) {
 			t.Fatalf("with %d: %s", n, look())
 		}
 	}
-}
-
-// grown: a term of the bytes, with any fields, of at most some nodes.
-func grown(b []byte) api.Term {
-	next := func() int {
-		if len(b) == 0 {
-			return 2
-		}
-		c := b[0]
-		b = b[1:]
-		return int(c)
-	}
-	names := []string{"", "A", "B.b", name32, name33, "a-b"}
-	numbers := []int{0, 0, 0, 1, 2, 3, 11, 12, far, far + 1, -1, math.MaxInt, math.MinInt}
-	levels := append([]api.Level{zero, two, param, great}, badLevels...)
-	var grow func(deep int) api.Term
-	grow = func(deep int) api.Term {
-		c := next()
-		t := api.Term{K: uint8(c % 10)}
-		if c >= 200 { // with fields that are not the kind's
-			t.N, t.S = numbers[next()%len(numbers)], names[next()%len(names)]
-		}
-		parts := []int{0, 0, 0, 0, 2, 2, 2, 3, 1, 2}[t.K]
-		switch t.K {
-		case api.Sort:
-			t.Ls = []api.Level{levels[next()%len(levels)]}
-		case api.Var:
-			t.N = numbers[next()%len(numbers)]
-		case api.Const:
-			t.S = names[next()%len(names)]
-			for range next() % 6 {
-				t.Ls = append(t.Ls, levels[next()%4])
-			}
-		case api.Proj:
-			t.S, t.N = names[next()%len(names)], numbers[next()%len(numbers)]
-		}
-		if deep > 8 {
-			return t
-		}
-		for range parts {
-			t.T = append(t.T, grow(deep+1))
-		}
-		return t
-	}
-	return grow(0)
 }
 
 // FuzzTerms: all calls, of any trees. (R1)
