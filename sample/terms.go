@@ -87,6 +87,17 @@ func Small() []api.Term {
 	return append(append(out, once...), grow(few)...)
 }
 
+// Some: the first ones of the small terms, and each n-th one.
+func Some(n int) []api.Term {
+	var out []api.Term
+	for i, x := range Small() {
+		if i%n == 0 || i < 20 {
+			out = append(out, x)
+		}
+	}
+	return out
+}
+
 // Bads: terms that may not be, some of which have no end.
 func Bads() []api.Term {
 	out := endless()

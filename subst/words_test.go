@@ -17,7 +17,7 @@ var (
 
 	srt, vr, con, prj = sample.Sort, sample.Var, sample.Const, sample.Proj
 	app, lam, pi, let = sample.App, sample.Lam, sample.Pi, sample.Let
-	text              = sample.Text
+	text, some        = sample.Text, sample.Some
 )
 
 // marked is a term, each free variable of which has its own number wherever it stands, so that nothing is ever lifted.
@@ -198,17 +198,6 @@ func wantFails(t *testing.T, what string, got answered, e api.Errno) {
 	if got.e != e || !sample.IsZero(got.t) {
 		t.Errorf("%s: error %d, want %d, with a zero term: %v", what, got.e, e, sample.IsZero(got.t))
 	}
-}
-
-// some: each n-th one of the small terms.
-func some(n int) []api.Term {
-	var out []api.Term
-	for i, x := range sample.Small() {
-		if i%n == 0 || i < 20 {
-			out = append(out, x)
-		}
-	}
-	return out
 }
 
 // filled: with another term in the place of all variables.
