@@ -155,8 +155,9 @@ func TestFaults(t *testing.T) {
 		{"BTN1\x00\x00\x00\x01\x00\x00", 8, api.ErrBytes},
 		{"BTN1\x00\x00\x00\x01\x05\x04", 8, api.ErrBytes},
 		{"BTN1\x00\x00\x00\x01\x05\x00more", 8, api.ErrBytes},
-		{"BTN1\x00\x00\x00\x01\x05\x05", 9, api.ErrMany}, // within it
-		{"BTN1\x00\x00\x00\x01\x05", 9, api.ErrBytes},
+		{"BTN1\x00\x00\x00\x01\x05\x05", 8, api.ErrBytes},
+		{"BTN1\x00\x00\x00\x01\x05", 8, api.ErrBytes},
+		{"BTN1\x00\x00\x00\x01\x00", 8, api.ErrBytes},
 		{"BTN1\x00\x00\x00\x01\x01", 9, api.ErrBytes},
 		{"BTN1\x00\x00\x00\x01\x01\x05", 9, api.ErrMany},
 		{"BTN1\x00\x00\x00\x01\x01\x00", 10, api.ErrBytes},
@@ -276,7 +277,7 @@ func wrongs(p piece) map[string]api.Errno {
 		}
 		out["\x81\x00a"] = api.ErrBytes
 	case kind:
-		for c := 9; c < 256; c++ {
+		for c := p.most + 1; c < 256; c++ {
 			out[string([]byte{byte(c)})] = api.ErrBytes
 		}
 		out["\x00"] = api.ErrBytes
@@ -285,6 +286,28 @@ func wrongs(p piece) map[string]api.Errno {
 		out[""] = api.ErrBytes
 	}
 	return out
+}
+
+// What stands behind a kind that is none is not within the entry, so that it does not fail ahead of it, whatever it is.
+func TestDecodeOfKindsThatAreNone(t *testing.T) {
+	p := pieces(spoiled())
+	at := 0
+	kinds := map[uint8]int{} // how many there are, by the last one that may be
+	for i, x := range p {
+		if x.is == kind {
+			kinds[uint8(x.most)]++
+			ahead, behind := joined(p[:i]), joined(p[i+1:])
+			for s := range wrongs(x) {
+				for _, b := range []string{"", "\x00", "\x05", "\x80", "\x80\x00", "\x7f", "\xff\xff\xff\xff\xff\xff\xff\xff\xff\x01", behind, "\x05" + behind} {
+					faulty(t, ahead+s+b, at, api.ErrBytes)
+				}
+			}
+		}
+		at += len(x.b)
+	}
+	if kinds[api.Block] != len(spoiled()) || kinds[api.Proj] < 8 {
+		t.Errorf("only %v kinds", kinds)
+	}
 }
 
 // Each piece is spoiled in each way, all others as they must be.

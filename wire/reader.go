@@ -81,6 +81,16 @@ func entry[E any](r *reader, t table[E]) E {
 	return t[n]
 }
 
+// kind of an entry, from 1 to the last one. The kind tells what stands within, so behind one that is none there is nothing that could fail ahead of it.
+func (r *reader) kind(last uint8) uint8 {
+	at := r.At()
+	k := r.Byte()
+	if k == 0 || k > last {
+		r.Fail(at, api.ErrBytes)
+	}
+	return k
+}
+
 // level: an entry of the levels.
 func (r *reader) level() api.Level {
 	at := r.At()
@@ -97,7 +107,7 @@ func (r *reader) level() api.Level {
 // term: an entry of the terms.
 func (r *reader) term() counted {
 	at := r.At()
-	t := counted{Term: api.Term{K: r.Byte()}, size: 1, deep: 1}
+	t := counted{Term: api.Term{K: r.kind(api.Proj)}, size: 1, deep: 1}
 	switch t.K {
 	case api.Sort:
 		t.Ls = list(1, r.levelOf)
@@ -114,8 +124,6 @@ func (r *reader) term() counted {
 		t.S = entry(r, r.names)
 		t.N = r.number(api.MaxArgs - 1)
 		r.parts(&t, 1)
-	default:
-		r.Fail(at, api.ErrBytes)
 	}
 	if t.size > api.MaxTerm || t.deep > api.MaxDepth {
 		r.Fail(at, api.ErrMany)
@@ -140,8 +148,8 @@ func (r *reader) parts(t *counted, n int) {
 // decl: an entry of the declarations.
 func (r *reader) decl() api.Decl {
 	at := r.At()
-	d := api.Decl{Kind: r.Byte()}
-	d.Params = r.number(api.MaxParams) // has its errors ahead of the kind's: all within an entry has
+	d := api.Decl{Kind: r.kind(api.Block)}
+	d.Params = r.number(api.MaxParams)
 	switch d.Kind {
 	case api.Axiom:
 		d.Name, d.Type = r.named()
@@ -154,8 +162,6 @@ func (r *reader) decl() api.Decl {
 		if len(d.Inds) == 0 {
 			r.Fail(at, api.ErrArg)
 		}
-	default:
-		r.Fail(at, api.ErrBytes)
 	}
 	return d
 }

@@ -147,8 +147,8 @@ func (w *told) named() (string, api.Term) {
 func (w *told) decl() api.Decl {
 	at := w.at
 	d := api.Decl{Kind: w.byte()}
-	d.Params = w.number(4)
 	w.asked(1 <= d.Kind && d.Kind <= 4, at, api.ErrBytes)
+	d.Params = w.number(4)
 	if d.Kind != api.Block {
 		d.Name, d.Type = w.named()
 		if d.Kind != api.Axiom {

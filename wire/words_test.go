@@ -55,7 +55,7 @@ const (
 type piece struct {
 	is   int
 	b    string
-	most int // of a number what it may be; of a place how many entries there are
+	most int // of a number and of a kind what it may be; of a place how many entries there are
 }
 
 // words is how the chapter's words make bytes of declarations: tables as lists, in which each thing is looked for by what tells it apart.
@@ -99,7 +99,7 @@ func (w *words) term(t api.Term) piece {
 	s := sample.Text(t)
 	n, is := w.seen[s]
 	if !is {
-		p := []piece{{kind, string([]byte{t.K}), 0}}
+		p := []piece{{kind, string([]byte{t.K}), 8}}
 		var parts []piece
 		for _, x := range t.T {
 			parts = append(parts, w.term(x))
@@ -127,7 +127,7 @@ func (w *words) term(t api.Term) piece {
 }
 
 func (w *words) decl(d api.Decl) {
-	p := []piece{{kind, string([]byte{d.Kind}), 0}, {number, num(d.Params), api.MaxParams}}
+	p := []piece{{kind, string([]byte{d.Kind}), 4}, {number, num(d.Params), api.MaxParams}}
 	if d.Kind == api.Block {
 		p = append(p, piece{number, num(d.Fixed), api.MaxArgs}, piece{number, num(len(d.Inds)), api.MaxTypes})
 		for _, x := range d.Inds {
