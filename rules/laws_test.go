@@ -90,25 +90,6 @@ func TestFreeVariablesStay(t *testing.T) {
 	}
 }
 
-// rooms: a term whose lists have room behind their ends, in which something stands.
-func rooms(t api.Term, mark *[]func() bool) api.Term {
-	if len(t.Ls) > 0 {
-		l := append(slices.Clone(t.Ls), sample.Great)
-		t.Ls = l[: len(l)-1 : len(l)]
-		*mark = append(*mark, func() bool { return l[len(l)-1] == sample.Great })
-	}
-	if len(t.T) > 0 {
-		l := make([]api.Term, len(t.T)+1)
-		for i, x := range t.T {
-			l[i] = rooms(x, mark)
-		}
-		l[len(t.T)] = con("behind")
-		t.T = l[: len(t.T) : len(t.T)+1]
-		*mark = append(*mark, func() bool { return text(l[len(l)-1]) == text(con("behind")) })
-	}
-	return t
-}
-
 // Nothing that is handed in is turned, the environment neither, and the same comes again. (R3, R5)
 func TestNothingIsTurned(t *testing.T) {
 	e := basis(t)
@@ -116,7 +97,7 @@ func TestNothingIsTurned(t *testing.T) {
 	for _, y := range []api.Term{num(0), num(2), app(con("List.nil", zero), con("N")), apply(con("List.cons", two), con("N"), vr(1), vr(2)), apply(con("Pair.mk", zero, two), vr(0), vr(1), vr(2), num(3))} {
 		for _, x := range append(slices.Clone(rows), y) {
 			var marks []func() bool
-			x, y := rooms(x, &marks), rooms(y, &marks)
+			x, y := sample.Rooms(x, &marks), sample.Rooms(y, &marks)
 			wasX, wasY := text(x), text(y)
 			var before string
 			for i := range 2 {
@@ -186,40 +167,31 @@ func TestTheWordsOfSmallTerms(t *testing.T) {
 }
 
 // grown: infos, and terms whose heads are theirs, that the bytes tell.
-type grown struct{ b []byte }
+type grown struct{ sample.Bytes }
 
-func (g *grown) next(of int) int {
-	if len(g.b) == 0 {
-		return 0
-	}
-	c := g.b[0]
-	g.b = g.b[1:]
-	return int(c) % of
-}
-
-func (g *grown) name() string { return []string{"A", "B", "c", "d", "e", "f"}[g.next(6)] }
+func (g *grown) name() string { return []string{"A", "B", "c", "d", "e", "f"}[g.Next(6)] }
 
 func (g *grown) closed(params int) api.Term {
 	l := zero
 	if params > 0 {
-		l = sample.P(g.next(params), g.next(3))
+		l = sample.P(g.Next(params), g.Next(3))
 	}
-	return []api.Term{con("n", l), srt(l), con("n"), lam(srt(zero), vr(0)), pi(srt(l), vr(0))}[g.next(5)]
+	return []api.Term{con("n", l), srt(l), con("n"), lam(srt(zero), vr(0)), pi(srt(l), vr(0))}[g.Next(5)]
 }
 
 // info of the i-th name: for the most part types are A and B, constructors c and d, recursors e and f.
 func (g *grown) info(i int) api.Info {
 	kinds := []uint8{api.IsType, api.IsDef, api.IsCtor, api.IsCtor, api.IsRec, api.IsRec}
-	x := api.Info{Kind: kinds[i], Name: "ABcdef"[i : i+1], Params: g.next(3), Of: "AB"[g.next(2):][:1], Record: g.next(3) > 0}
-	if g.next(8) == 7 {
-		x.Kind, x.Of = kinds[g.next(6)], g.name()
+	x := api.Info{Kind: kinds[i], Name: "ABcdef"[i : i+1], Params: g.Next(3), Of: "AB"[g.Next(2):][:1], Record: g.Next(3) > 0}
+	if g.Next(8) == 7 {
+		x.Kind, x.Of = kinds[g.Next(6)], g.name()
 	}
 	for _, n := range []*int{&x.Fixed, &x.Index, &x.Fields, &x.Motives, &x.Minors} {
-		*n = g.next(3)
+		*n = g.Next(3)
 	}
 	x.Type, x.Value = g.closed(x.Params), g.closed(x.Params)
-	for range g.next(4) {
-		x.Rules = append(x.Rules, rule([]string{"c", "d", "c", "d", g.name()}[g.next(5)], g.next(3), g.closed(x.Params)))
+	for range g.Next(4) {
+		x.Rules = append(x.Rules, rule([]string{"c", "d", "c", "d", g.name()}[g.Next(5)], g.Next(3), g.closed(x.Params)))
 	}
 	return x
 }
@@ -227,22 +199,22 @@ func (g *grown) info(i int) api.Info {
 // row: a head, for the most part a Const of one of the names, applied to fewer than so many terms.
 func (g *grown) row(args int) api.Term {
 	h := con(g.name())
-	for range g.next(3) {
-		h.Ls = append(h.Ls, []api.Level{zero, two, sample.P(0, 1), sample.Number(api.TopLevel - 1)}[g.next(4)])
+	for range g.Next(3) {
+		h.Ls = append(h.Ls, []api.Level{zero, two, sample.P(0, 1), sample.Number(api.TopLevel - 1)}[g.Next(4)])
 	}
 	any := func() api.Term {
-		n := g.next(20)
-		return sample.Grown(g.b[:min(len(g.b), n)])
+		n := g.Next(20)
+		return sample.Grown(g.B[:min(len(g.B), n)])
 	}
-	switch g.next(20) {
+	switch g.Next(20) {
 	case 0:
-		h = prj(g.name(), g.next(4), h)
+		h = prj(g.name(), g.Next(4), h)
 	case 1:
 		h = any()
 	}
-	for range g.next(args) {
-		a := []api.Term{vr(g.next(5)), srt(sample.Number(g.next(9))), num(g.next(3)), con(g.name())}[g.next(4)]
-		if g.next(20) == 19 {
+	for range g.Next(args) {
+		a := []api.Term{vr(g.Next(5)), srt(sample.Number(g.Next(9))), num(g.Next(3)), con(g.name())}[g.Next(4)]
+		if g.Next(20) == 19 {
 			a = any()
 		}
 		h = app(h, a)
@@ -260,13 +232,13 @@ func FuzzRules(f *testing.F) {
 		f.Add(b, b[k:], b[2*k:])
 	}
 	f.Fuzz(func(t *testing.T, b, c, d []byte) {
-		e, g := filled(t, axiom(0, "n", srt(zero))), &grown{b}
+		e, g := filled(t, axiom(0, "n", srt(zero))), &grown{sample.Bytes{B: b}}
 		for i := range 6 {
 			if f := e.Add(g.info(i)); f != api.OK {
 				t.Fatalf("error %d", f)
 			}
 		}
-		asked, majors := &grown{c}, &grown{d}
+		asked, majors := &grown{sample.Bytes{B: c}}, &grown{sample.Bytes{B: d}}
 		var l, m []api.Term
 		for range 8 {
 			l, m = append(l, asked.row(12)), append(m, majors.row(6))

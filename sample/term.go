@@ -90,3 +90,22 @@ func Clone(t api.Term) api.Term {
 	}
 	return t
 }
+
+// Rooms: the same tree, whose lists have room behind their ends, in which something stands. To kept comes for each of them what tells whether that still does.
+func Rooms(t api.Term, kept *[]func() bool) api.Term {
+	if len(t.Ls) > 0 {
+		l := append(slices.Clone(t.Ls), Great)
+		t.Ls = l[: len(l)-1 : len(l)]
+		*kept = append(*kept, func() bool { return l[len(l)-1] == Great })
+	}
+	if len(t.T) > 0 {
+		l := make([]api.Term, len(t.T)+1)
+		for i, x := range t.T {
+			l[i] = Rooms(x, kept)
+		}
+		l[len(t.T)] = Const("behind")
+		t.T = l[: len(t.T) : len(t.T)+1]
+		*kept = append(*kept, func() bool { return Text(l[len(l)-1]) == Text(Const("behind")) })
+	}
+	return t
+}

@@ -204,3 +204,16 @@ func Grown(b []byte) api.Term {
 	}
 	return grow(0)
 }
+
+// Bytes tell what is grown of them, from the first one on.
+type Bytes struct{ B []byte }
+
+// Next: a number below of; 0, if no byte is left.
+func (g *Bytes) Next(of int) int {
+	if len(g.B) == 0 {
+		return 0
+	}
+	c := g.B[0]
+	g.B = g.B[1:]
+	return int(c) % of
+}
