@@ -153,81 +153,6 @@ func TestWeakHeadsWithinTheSame(t *testing.T) {
 	}
 }
 
-// grown: terms that the bytes tell.
-type grown struct{ sample.Bytes }
-
-// name: of the sample, at as many levels as it must have, or at others.
-func (g *grown) name() api.Term {
-	names := []api.Term{
-		n, a, f, p, con("add"), con("one"), con("double"), con("id", zero), con("swap", zero, zero), con("N.zero"), con("N.succ"), recN, recList,
-		con("Pair.mk", zero, zero), con("Pair.rec", zero, zero, zero), con("List.nil", zero), con("List.cons", zero), con("loose", two), con("none"),
-	}
-	x := names[g.Next(len(names))]
-	if g.Next(24) == 23 {
-		x.Ls = []api.Level{zero, two, sample.P(0, 1), sample.Number(api.TopLevel)}[:g.Next(5)]
-	}
-	return x
-}
-
-// row: a head, applied.
-func (g *grown) row(deep int) api.Term {
-	h := g.name()
-	if g.Next(4) == 3 {
-		h = g.term(deep + 1)
-	}
-	for range g.Next(6) {
-		h = app(h, g.term(deep+1))
-	}
-	return h
-}
-
-// list: of so many terms, ahead of something.
-func (g *grown) list(deep, of int) api.Term {
-	if of == 0 {
-		return []api.Term{app(con("List.nil", zero), n), g.term(deep + 1)}[g.Next(2)]
-	}
-	return apply(con("List.cons", zero), n, g.term(deep+1), g.list(deep+1, of-1))
-}
-
-// term: for the most part such as has steps to be made.
-func (g *grown) term(deep int) api.Term {
-	if deep > 7 {
-		return []api.Term{vr(g.Next(4)), num(g.Next(3)), g.name()}[g.Next(3)]
-	}
-	in := func() api.Term { return g.term(deep + 1) }
-	switch g.Next(18) {
-	case 0:
-		return vr(g.Next(4))
-	case 1:
-		return num(g.Next(4))
-	case 2:
-		return lam(g.name(), in())
-	case 3:
-		return let(g.name(), in(), in())
-	case 4:
-		return prj([]string{"Pair", "Pair", "Pair", "N"}[g.Next(4)], g.Next(3), in())
-	case 5:
-		return prj("Pair", g.Next(2), mk(in(), in()))
-	case 6, 7:
-		return apply(recN, in(), in(), lam(n, lam(n, in())), in())
-	case 8:
-		return apply(lam(n, lam(n, in())), in(), in())
-	case 9:
-		return apply(recList, n, n, in(), lam(n, lam(n, lam(n, in()))), g.list(deep+1, g.Next(3)))
-	case 10:
-		return apply(con([]string{"add", "double"}[g.Next(2)]), in(), in())
-	case 11:
-		return prj("Pair", g.Next(2), apply(con("swap", zero, zero), n, n, mk(in(), in())))
-	case 12:
-		return pi(in(), in())
-	case 13:
-		if k := g.Next(80); k > 60 {
-			return sample.Grown(g.B[:min(len(g.B), k-60)])
-		}
-	}
-	return g.row(deep)
-}
-
 // FuzzHead: any terms over the sample, held against the words. (R1)
 func FuzzHead(f *testing.F) {
 	for k := range byte(60) {
@@ -239,7 +164,7 @@ func FuzzHead(f *testing.F) {
 	}
 	f.Fuzz(func(t *testing.T, b []byte, fuel int) {
 		e := basis(t, def(1, "loose", srt(zero), lam(n, app(vr(0), vr(0))))) // with which there are terms without an end
-		x := (&grown{sample.Bytes{B: b}}).row(0)
+		x := (&sample.Reckoned{Bytes: sample.Bytes{B: b}}).Row(0)
 		if fuel < 0 {
 			tells(t, "fuel below none", e, x, fuel, api.Term{}, 0, api.ErrArg)
 		}

@@ -18,6 +18,7 @@ var (
 	srt, vr, con, prj = sample.Sort, sample.Var, sample.Const, sample.Proj
 	app, lam, pi, let = sample.App, sample.Lam, sample.Pi, sample.Let
 	apply, num        = sample.Apply, sample.Num
+	mk, succ, count   = sample.Mk, sample.Succ, sample.Count
 	text, zeroTerm    = sample.Text, sample.IsZero
 
 	axiom, def, theorem, rule = sample.IsAxiom, sample.IsDef, sample.IsTheorem, sample.Rule
@@ -30,15 +31,6 @@ var (
 	recList    = con("List.rec", zero, zero)
 	unary      = pi(n, n)
 )
-
-func mk(x, y api.Term) api.Term { return apply(con("Pair.mk", zero, zero), n, n, x, y) }
-
-func succ(x api.Term) api.Term { return app(con("N.succ"), x) }
-
-// count: by the recursor one more for each one of a major argument.
-func count(major api.Term) api.Term {
-	return apply(recN, lam(n, n), num(0), lam(n, lam(n, succ(vr(0)))), major)
-}
 
 // filled: an environment with these infos.
 func filled(t *testing.T, l ...api.Info) *env.Env {
