@@ -132,7 +132,7 @@ func TestAlikeOfWhatMayNotBe(t *testing.T) {
 
 // Alike, if a plain model says so: of small terms, each with some others.
 func TestAlikeOfSmallTerms(t *testing.T) {
-	e := small(t)
+	e := filled(t, sample.SmallInfos()...)
 	l := sample.Some(29)
 	for i, x := range l {
 		for _, y := range l[max(0, i-3) : i+1] {

@@ -32,22 +32,11 @@ func TestWhatMayNotBe(t *testing.T) {
 
 func TestFuelBelowNone(t *testing.T) {
 	e := basis(t)
-	for _, x := range append(sample.Leaves(), con("one"), redexes()[0], both(p), count(num(3))) {
+	for _, x := range append(sample.Leaves(), con("one"), sample.Redexes()[0], both(p), count(num(3))) {
 		for _, fuel := range []int{-1, -2, -1000, math.MinInt + 1, math.MinInt} {
 			tells(t, "below none", e, x, fuel, api.Term{}, 0, api.ErrArg)
 			tells(t, "below none, of no environment", nil, x, fuel, api.Term{}, 0, api.ErrNil)
 		}
-	}
-}
-
-// redexes: with steps of each kind, within one another, and what is contracted.
-func redexes() []api.Term {
-	inner := id(a)
-	return []api.Term{
-		add(num(2), add(num(1), con("one"))), count(inner), app(count(num(1)), inner), apply(count(inner), inner, a), lam(inner, app(f, vr(0))), pi(inner, inner),
-		first(id(p)), apply(second(swap(p)), inner), prj("Pair", 5, inner), apply(lam(n, lam(n, vr(1))), vr(3), inner), let(n, inner, app(f, vr(0))),
-		both(inner), mk(first(swap(p)), inner), lam(n, apply(vr(4), inner, vr(0))), lam(n, lam(n, apply(f, inner, vr(0)))), sum(list(inner, a)),
-		apply(con("Pair.rec", zero, two, zero), n, n, n, f, apply(con("swap", two, zero), n, n, p)), con("id", sample.P(1, 1)), app(pi(inner, n), con("id", two)),
 	}
 }
 
@@ -83,7 +72,7 @@ func TestWhatIsAddedLater(t *testing.T) {
 // Nothing that is handed in is turned, the room behind lists' ends and the environment neither; asked again all is the same. (R3, R5)
 func TestNothingIsTurned(t *testing.T) {
 	e := basis(t)
-	for _, x := range redexes() {
+	for _, x := range sample.Redexes() {
 		var kept []func() bool
 		was := text(x)
 		x := sample.Rooms(x, &kept)
@@ -117,33 +106,14 @@ func TestNothingIsTurned(t *testing.T) {
 	}
 }
 
-// small: an environment in which the names of the small terms stand for something of each kind.
-func small(t *testing.T) *env.Env {
-	t.Helper()
-	return filled(t,
-		api.Info{Kind: api.IsType, Name: "P", Type: srt(zero), Record: true},
-		api.Info{Kind: api.IsCtor, Name: "B.b'", Type: srt(zero), Of: "P", Fields: 1},
-		def(0, "A", srt(zero), lam(srt(zero), app(con("B.b'"), vr(0)))),
-		api.Info{Kind: api.IsRec, Name: "B", Type: srt(zero), Params: 1, Rules: []api.Rule{rule("B.b'", 1, lam(srt(zero), app(vr(0), vr(0))))}},
-	)
-}
-
 // Small terms of all kinds.
 func TestTheWordsOfSmallTerms(t *testing.T) {
-	e := small(t)
+	e := filled(t, sample.SmallInfos()...)
 	for _, x := range sample.Some(3) {
 		for _, y := range []api.Term{x, app(con("B", two), app(con("A"), x)), app(con("B.b'"), prj("P", 0, x)), lam(n, app(lifted(x), vr(0)))} {
 			obeyed(t, e, y, 25)
 		}
 	}
-}
-
-// typed: a term over the sample, of a type, in a context, which the bytes tell.
-func typed(b []byte) (x, of api.Term) {
-	g := &sample.Typed{Bytes: sample.Bytes{B: b}}
-	context := []api.Term{n, unary, couple, pi(couple, n), sample.ListOf(n)}
-	of = g.Type(2)
-	return g.Term(of, context, 4), of
 }
 
 // lawful: of a term that has a type, is its form its own, and that of all that it is by other ways?
@@ -186,22 +156,11 @@ func swapped(of, x api.Term) api.Term {
 	return apply(con("swap", zero, zero), v, u, apply(con("swap", zero, zero), u, v, x))
 }
 
-// bytes: so many, which k tells.
-func bytes(k, of int) []byte {
-	b := make([]byte, of)
-	s := uint32(k)*2654435761 + 12345
-	for i := range b {
-		s = s*1664525 + 1013904223
-		b[i] = byte(s >> 24)
-	}
-	return b
-}
-
 // A normal form is its own; a term, its weak head, and what it is by a lambda more have the same one.
 func TestTheLawsOfWhatHasAType(t *testing.T) {
 	e := basis(t)
 	for k := range 800 {
-		x, of := typed(bytes(k, 300))
+		x, of := sample.Ample(sample.Scattered(k, 300))
 		lawful(t, e, x, of)
 	}
 }
@@ -211,7 +170,7 @@ func TestAlikeGoesOnAndBack(t *testing.T) {
 	e := basis(t)
 	var l []api.Term
 	for k := range 60 {
-		g := &sample.Typed{Bytes: sample.Bytes{B: bytes(k, 200)}}
+		g := &sample.Typed{Bytes: sample.Bytes{B: sample.Scattered(k, 200)}}
 		of := []api.Term{n, unary, couple}[k%3]
 		x := g.Term(of, []api.Term{n, unary, couple}, 2)
 		if term.Size(x) < 400 {
@@ -241,7 +200,7 @@ func TestAlikeGoesOnAndBack(t *testing.T) {
 // FuzzForm: any terms over the sample, held against the words. (R1)
 func FuzzForm(f *testing.F) {
 	for k := range 60 {
-		f.Add(bytes(k, 120), k*3)
+		f.Add(sample.Scattered(k, 120), k*3)
 	}
 	f.Fuzz(func(t *testing.T, b []byte, fuel int) {
 		e := basis(t, def(1, "loose", srt(zero), lam(n, app(vr(0), vr(0))))) // with which there are terms without an end
@@ -257,11 +216,11 @@ func FuzzForm(f *testing.F) {
 // FuzzTyped: terms of types, held against the words and the laws.
 func FuzzTyped(f *testing.F) {
 	for k := range 60 {
-		f.Add(bytes(k, 200))
+		f.Add(sample.Scattered(k, 200))
 	}
 	f.Fuzz(func(t *testing.T, b []byte) {
 		e := basis(t)
-		x, of := typed(b)
+		x, of := sample.Ample(b)
 		obeyed(t, e, x, 1000)
 		lawful(t, e, x, of)
 	})

@@ -9,23 +9,6 @@ import (
 
 // P10.1, P10.2: the sample of the rules, and the chapter's examples over it.
 
-func swap(x api.Term) api.Term { return apply(con("swap", zero, zero), n, n, x) }
-
-// list: of numbers.
-func list(l ...api.Term) api.Term {
-	out := app(con("List.nil", zero), n)
-	for i := range l {
-		out = apply(con("List.cons", zero), n, l[len(l)-1-i], out)
-	}
-	return out
-}
-
-// sum: of a list of numbers, by its recursor.
-func sum(l api.Term) api.Term {
-	ns := sample.ListOf(n)
-	return apply(con("List.rec", zero, zero), n, lam(ns, n), num(0), lam(n, lam(ns, lam(n, add(vr(0), vr(2))))), l)
-}
-
 func TestTheExamples(t *testing.T) {
 	e := basis(t)
 	says(t, "add of 1 and 1, and 2", e, add(num(1), num(1)), num(2), 14, api.Alike)
@@ -106,21 +89,9 @@ func TestTheSampleReckons(t *testing.T) {
 // All names of the sample, at any number of levels, of any number of arguments, are as the words say.
 func TestTheWordsOfTheSample(t *testing.T) {
 	e := basis(t)
-	args := []api.Term{n, con("one"), lam(n, n), add(a, num(1)), first(mk(num(1), a)), lam(n, lam(n, app(f, vr(0)))), vr(3)}
-	heads := []api.Term{vr(0), srt(zero), con("none"), second(p), first(swap(mk(a, con("double")))), lam(n, vr(0)), let(n, f, vr(0)), pi(con("one"), con("double"))}
-	for _, s := range e.List() {
-		for k := range 4 {
-			heads = append(heads, con(s, []api.Level{zero, two, sample.P(0, 1)}[:k]...))
-		}
-	}
-	for _, h := range heads {
-		for from := range args {
-			for to := from; to <= len(args); to++ {
-				x := apply(h, args[from:to]...)
-				for _, y := range []api.Term{x, second(x), app(count(x), a), both(x), lam(n, app(x, vr(0)))} {
-					obeyed(t, e, y, 80)
-				}
-			}
+	for _, x := range sample.Rows() {
+		for _, y := range []api.Term{x, second(x), app(count(x), a), both(x), lam(n, app(x, vr(0)))} {
+			obeyed(t, e, y, 80)
 		}
 	}
 }

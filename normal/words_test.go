@@ -20,6 +20,10 @@ var (
 	app, lam, pi, let = sample.App, sample.Lam, sample.Pi, sample.Let
 	apply, num        = sample.Apply, sample.Num
 	mk, succ, count   = sample.Mk, sample.Succ, sample.Count
+	first, second     = sample.First, sample.Second
+	both, swap        = sample.Both, sample.Swap
+	id, add           = sample.Id, sample.Add
+	list, sum         = sample.List, sample.Sum
 	text, zeroTerm    = sample.Text, sample.IsZero
 
 	axiom, def, theorem, rule = sample.IsAxiom, sample.IsDef, sample.IsTheorem, sample.Rule
@@ -32,16 +36,6 @@ var (
 	unary      = pi(n, n)
 	couple     = sample.PairOf(n, n)
 )
-
-// first, second: the Projs of a pair; both: the pair of them.
-func first(x api.Term) api.Term  { return prj("Pair", 0, x) }
-func second(x api.Term) api.Term { return prj("Pair", 1, x) }
-func both(x api.Term) api.Term   { return mk(first(x), second(x)) }
-
-// id: a number, by a definition and two lambdas: three steps.
-func id(x api.Term) api.Term { return apply(con("id", zero), n, x) }
-
-func add(x, y api.Term) api.Term { return apply(con("add"), x, y) }
 
 // lifted: a term, one binder further in.
 func lifted(t api.Term) api.Term {

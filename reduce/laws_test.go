@@ -110,12 +110,7 @@ func TestNothingIsTurned(t *testing.T) {
 
 // Small terms of all kinds, of names that stand for something of each kind.
 func TestTheWordsOfSmallTerms(t *testing.T) {
-	e := filled(t,
-		api.Info{Kind: api.IsType, Name: "P", Type: srt(zero), Record: true},
-		api.Info{Kind: api.IsCtor, Name: "B.b'", Type: srt(zero), Of: "P", Fields: 1},
-		def(0, "A", srt(zero), lam(srt(zero), app(con("B.b'"), vr(0)))),
-		api.Info{Kind: api.IsRec, Name: "B", Type: srt(zero), Params: 1, Rules: []api.Rule{rule("B.b'", 1, lam(srt(zero), app(vr(0), vr(0))))}},
-	)
+	e := filled(t, sample.SmallInfos()...)
 	for _, x := range sample.Some(3) {
 		obeyed(t, e, x, 25)
 		obeyed(t, e, app(con("B", two), app(con("A"), x)), 25)

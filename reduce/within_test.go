@@ -4,34 +4,11 @@ import (
 	"testing"
 
 	"batten/api"
+	"batten/sample"
 	"batten/subst"
 )
 
 // P9.1: the rows of the table, one behind the other, within what a recursor looks at and within what a projection is of.
-
-// towards: ways to one and the same term, with so many steps, each row of the table among them.
-func towards(x api.Term) map[string]struct {
-	x     api.Term
-	steps int
-} {
-	return map[string]struct {
-		x     api.Term
-		steps int
-	}{
-		"at hand":                {x, 0},
-		"a lambda":               {app(lam(n, vr(0)), x), 1},
-		"a lambda of another":    {apply(lam(n, lam(n, vr(1))), x, a), 2},
-		"a let":                  {let(n, x, vr(0)), 1},
-		"a let of another":       {let(n, a, lifted(x)), 1},
-		"a definition":           {apply(con("id", zero), n, x), 3},
-		"a recursor, at 0":       {apply(recN, lam(n, n), x, f, num(0)), 4},
-		"a recursor, at one":     {apply(recN, lam(n, n), a, lam(n, lam(n, lifted(lifted(x)))), con("one")), 8},
-		"a projection":           {prj("Pair", 0, mk(x, a)), 1},
-		"the other one":          {prj("Pair", 1, mk(a, x)), 1},
-		"a projection of a swap": {prj("Pair", 1, apply(con("swap", zero, zero), n, n, mk(x, a))), 6},
-		"a let of a projection":  {let(n, prj("Pair", 0, mk(x, a)), app(lam(n, vr(0)), vr(0))), 3},
-	}
-}
 
 // lifted: a term, one binder further in.
 func lifted(t api.Term) api.Term {
@@ -41,30 +18,30 @@ func lifted(t api.Term) api.Term {
 
 func TestStepsWithinAMajor(t *testing.T) {
 	e := basis(t)
-	for what, c := range towards(num(0)) {
-		x := apply(recN, vr(2), vr(0), f, c.x)
-		becomes(t, "at 0: "+what, e, x, vr(0), 4+c.steps)
-		becomes(t, "at 0, and behind: "+what, e, apply(x, a, num(1)), apply(vr(0), a, num(1)), 4+c.steps)
+	for what, c := range sample.Ways(num(0), lifted) {
+		x := apply(recN, vr(2), vr(0), f, c.X)
+		becomes(t, "at 0: "+what, e, x, vr(0), 4+c.Steps)
+		becomes(t, "at 0, and behind: "+what, e, apply(x, a, num(1)), apply(vr(0), a, num(1)), 4+c.Steps)
 	}
-	for what, c := range towards(succ(vr(7))) { // what is put into the rule is the weak head's field, t stays as it is
-		becomes(t, "at one more: "+what, e, apply(recN, vr(2), vr(0), f, c.x), apply(f, vr(7), apply(recN, vr(2), vr(0), f, vr(7))), 5+c.steps)
-		becomes(t, "at one more, counted: "+what, e, count(c.x), succ(count(vr(7))), 7+c.steps)
+	for what, c := range sample.Ways(succ(vr(7)), lifted) { // what is put into the rule is the weak head's field, t stays as it is
+		becomes(t, "at one more: "+what, e, apply(recN, vr(2), vr(0), f, c.X), apply(f, vr(7), apply(recN, vr(2), vr(0), f, vr(7))), 5+c.Steps)
+		becomes(t, "at one more, counted: "+what, e, count(c.X), succ(count(vr(7))), 7+c.Steps)
 	}
-	for what, c := range towards(a) { // no constructor: it stands in the place of what it is the weak head of
-		becomes(t, "at a: "+what, e, apply(recN, vr(2), vr(0), f, c.x), apply(recN, vr(2), vr(0), f, a), c.steps)
-		becomes(t, "at a, and behind: "+what, e, apply(count(c.x), con("one"), vr(1)), apply(count(a), con("one"), vr(1)), c.steps)
+	for what, c := range sample.Ways(a, lifted) { // no constructor: it stands in the place of what it is the weak head of
+		becomes(t, "at a: "+what, e, apply(recN, vr(2), vr(0), f, c.X), apply(recN, vr(2), vr(0), f, a), c.Steps)
+		becomes(t, "at a, and behind: "+what, e, apply(count(c.X), con("one"), vr(1)), apply(count(a), con("one"), vr(1)), c.Steps)
 	}
 }
 
 func TestStepsWithinAProjection(t *testing.T) {
 	e := basis(t)
-	for what, c := range towards(mk(f, vr(5))) {
-		becomes(t, "of a pair: "+what, e, prj("Pair", 1, c.x), vr(5), 1+c.steps)
-		becomes(t, "of a pair, and behind: "+what, e, apply(prj("Pair", 0, c.x), con("one"), vr(1)), apply(f, con("one"), vr(1)), 1+c.steps)
+	for what, c := range sample.Ways(mk(f, vr(5)), lifted) {
+		becomes(t, "of a pair: "+what, e, prj("Pair", 1, c.X), vr(5), 1+c.Steps)
+		becomes(t, "of a pair, and behind: "+what, e, apply(prj("Pair", 0, c.X), con("one"), vr(1)), apply(f, con("one"), vr(1)), 1+c.Steps)
 	}
-	for what, c := range towards(p) {
-		becomes(t, "of p: "+what, e, prj("Pair", 1, c.x), prj("Pair", 1, p), c.steps)
-		becomes(t, "of p, and behind: "+what, e, apply(prj("Pair", 0, c.x), con("one"), vr(1)), apply(prj("Pair", 0, p), con("one"), vr(1)), c.steps)
+	for what, c := range sample.Ways(p, lifted) {
+		becomes(t, "of p: "+what, e, prj("Pair", 1, c.X), prj("Pair", 1, p), c.Steps)
+		becomes(t, "of p, and behind: "+what, e, apply(prj("Pair", 0, c.X), con("one"), vr(1)), apply(prj("Pair", 0, p), con("one"), vr(1)), c.Steps)
 	}
 }
 

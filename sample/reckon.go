@@ -16,6 +16,37 @@ func Count(major api.Term) api.Term {
 	return Apply(Const("N.rec", Zero), Lam(n, n), Num(0), Lam(n, Lam(n, Succ(Var(0)))), major)
 }
 
+// First, Second: the Projs of a pair; Both: the pair of them.
+func First(x api.Term) api.Term  { return Proj("Pair", 0, x) }
+func Second(x api.Term) api.Term { return Proj("Pair", 1, x) }
+func Both(x api.Term) api.Term   { return Mk(First(x), Second(x)) }
+
+// Id: a number, by a definition and two lambdas: three steps.
+func Id(x api.Term) api.Term { return Apply(Const("id", Zero), Const("N"), x) }
+
+func Add(x, y api.Term) api.Term { return Apply(Const("add"), x, y) }
+
+// Swap: a pair of numbers, the other way round: four steps.
+func Swap(x api.Term) api.Term {
+	return Apply(Const("swap", Zero, Zero), Const("N"), Const("N"), x)
+}
+
+// List: of numbers.
+func List(l ...api.Term) api.Term {
+	n := Const("N")
+	out := App(Const("List.nil", Zero), n)
+	for i := range l {
+		out = Apply(Const("List.cons", Zero), n, l[len(l)-1-i], out)
+	}
+	return out
+}
+
+// Sum: of a list of numbers, by its recursor.
+func Sum(l api.Term) api.Term {
+	n, of := Const("N"), ListOf(Const("N"))
+	return Apply(Const("List.rec", Zero, Zero), n, Lam(of, n), Num(0), Lam(n, Lam(of, Lam(n, Add(Var(0), Var(2))))), l)
+}
+
 // Reckoned are terms over the sample that the bytes tell, for the most part such as have steps to be made, few of which have a type. Beside the sample they name "loose", a definition over one level, and "none", that is none.
 type Reckoned struct{ Bytes }
 

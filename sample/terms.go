@@ -217,3 +217,14 @@ func (g *Bytes) Next(of int) int {
 	g.B = g.B[1:]
 	return int(c) % of
 }
+
+// Scattered: so many bytes, which k tells.
+func Scattered(k, of int) []byte {
+	b := make([]byte, of)
+	s := uint32(k)*2654435761 + 12345
+	for i := range b {
+		s = s*1664525 + 1013904223
+		b[i] = byte(s >> 24)
+	}
+	return b
+}

@@ -10,6 +10,19 @@ func PairOf(a, b api.Term) api.Term { return Apply(Const("Pair", Zero, Zero), a,
 
 func ListOf(a api.Term) api.Term { return App(Const("List", Zero), a) }
 
+// Context: types of each form.
+func Context() []api.Term {
+	n := Const("N")
+	return []api.Term{n, Pi(n, n), PairOf(n, n), Pi(PairOf(n, n), n), ListOf(n)}
+}
+
+// Ample: a term that the bytes tell, in the context, and its type.
+func Ample(b []byte) (x, of api.Term) {
+	g := &Typed{Bytes{b}}
+	of = g.Type(2)
+	return g.Term(of, Context(), 4), of
+}
+
 // Type: of which few stand in one another.
 func (g *Typed) Type(deep int) api.Term {
 	n := Const("N")
