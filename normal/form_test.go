@@ -11,101 +11,19 @@ import (
 
 // In normal forms there is no step, and nothing that is contracted: they stay.
 func TestFormsStay(t *testing.T) {
-	e := basis(t, theorem(0, "t", n, num(1)), api.Info{Kind: api.IsType, Name: "V", Type: srt(zero), Value: n})
-	stuck := apply(recN, n, n, n, a)
-	for what, x := range map[string]api.Term{
-		"a sort":                     srt(sample.Great),
-		"a sort, applied":            app(srt(two), a),
-		"a variable":                 vr(0),
-		"the farthest one":           vr(sample.Far),
-		"a variable, applied":        apply(vr(3), vr(0), a),
-		"a lambda":                   lam(n, vr(0)),
-		"a lambda of a lambda":       lam(n, lam(n, app(vr(0), vr(1)))),
-		"functions":                  unary,
-		"functions, applied":         apply(pi(n, vr(0)), a, a),
-		"functions of Var 0":         pi(n, app(f, vr(0))),
-		"an axiom":                   a,
-		"an axiom, applied":          apply(f, a, vr(0)),
-		"a theorem":                  con("t"),
-		"a theorem, applied":         app(con("t"), a),
-		"a type with a Value":        con("V"),
-		"a name that is none":        app(con("none", two), a),
-		"one at a level":             app(con("one", zero), a),
-		"swap at one":                con("swap", two),
-		"a number":                   num(5),
-		"a pair":                     mk(a, vr(0)),
-		"the axiom of pairs":         p,
-		"a field of it":              first(p),
-		"a field, applied":           apply(second(p), a, vr(1)),
-		"a field of a variable":      prj("Pair", 7, vr(3)),
-		"a field of no structure":    prj("N", 0, num(1)),
-		"a recursor":                 recN,
-		"a recursor of three":        apply(recN, n, n, n),
-		"a recursor that is stuck":   stuck,
-		"that, applied":              apply(stuck, a, vr(0)),
-		"that, within":               apply(recN, stuck, stuck, stuck, first(stuck)),
-		"a lambda of what is stuck":  lam(stuck, lam(stuck, apply(recN, n, n, n, vr(1)))),
-		"a list":                     apply(con("List.cons", zero), n, a, app(con("List.nil", zero), n)),
-		"a recursor, of lists":       apply(con("List.rec", zero, zero), n, n, n, n, vr(0)),
-		"a recursor, without levels": apply(con("N.rec"), n, n, n, num(1)),
-	} {
+	e := basis(t, sample.Strangers()...)
+	for what, x := range sample.Forms() {
 		stays(t, what, e, x)
-	}
-}
-
-// around: where a term may stand in a weak head, so that it is put into its form, and nothing else.
-func around() map[string]func(x api.Term) api.Term {
-	return map[string]func(x api.Term) api.Term{
-		"what f is of":               func(x api.Term) api.Term { return app(f, x) },
-		"the first of three":         func(x api.Term) api.Term { return apply(f, x, a, vr(0)) },
-		"the second of three":        func(x api.Term) api.Term { return apply(vr(1), a, x, vr(0)) },
-		"the third of three":         func(x api.Term) api.Term { return apply(con("none"), a, vr(0), x) },
-		"what a sort is of":          func(x api.Term) api.Term { return app(srt(zero), x) },
-		"a lambda's domain":          func(x api.Term) api.Term { return lam(x, a) },
-		"a lambda's body":            func(x api.Term) api.Term { return lam(n, lifted(x)) },
-		"a Pi's domain":              func(x api.Term) api.Term { return pi(x, a) },
-		"a Pi's body":                func(x api.Term) api.Term { return pi(n, lifted(x)) },
-		"an applied Pi's domain":     func(x api.Term) api.Term { return apply(pi(x, n), a, a) },
-		"an applied Pi's body":       func(x api.Term) api.Term { return app(pi(n, lifted(x)), a) },
-		"what a Pi is of":            func(x api.Term) api.Term { return apply(unary, a, x) },
-		"what a Proj is of":          func(x api.Term) api.Term { return prj("Pair", 0, app(f, x)) },
-		"what an applied Proj is of": func(x api.Term) api.Term { return apply(prj("N", 1, app(f, x)), a, a) },
-		"what a Proj is applied to":  func(x api.Term) api.Term { return apply(first(p), a, x) },
-		"a motive":                   func(x api.Term) api.Term { return apply(recN, x, n, n, a) },
-		"a minor":                    func(x api.Term) api.Term { return apply(recN, n, n, x, a) },
-		"within the major one":       func(x api.Term) api.Term { return apply(recN, n, n, n, app(f, x)) },
-		"behind the major one":       func(x api.Term) api.Term { return apply(recN, n, n, n, a, a, x) },
-		"of a recursor of too few":   func(x api.Term) api.Term { return apply(recN, n, n, x) },
-		"one more than it":           func(x api.Term) api.Term { return succ(x) },
-		"a pair's type":              func(x api.Term) api.Term { return apply(con("Pair.mk", zero, zero), x, n, a, a) },
-		"in a pair":                  func(x api.Term) api.Term { return mk(a, x) },
-		"deep within":                func(x api.Term) api.Term { return lam(n, pi(n, app(f, prj("P", 0, app(f, lifted(lifted(x))))))) },
 	}
 }
 
 // All that a weak head is made of is put into its form: each way there, wherever it stands.
 func TestWhatIsWithin(t *testing.T) {
 	e := basis(t)
-	ways := map[string]struct {
-		x, want api.Term
-		steps   int
-	}{
-		"a lambda":              {app(lam(n, app(f, vr(0))), a), app(f, a), 1},
-		"a let":                 {let(n, a, apply(f, vr(0), vr(1))), apply(f, a, vr(0)), 1},
-		"a definition":          {con("one"), num(1), 1},
-		"id":                    {id(vr(4)), vr(4), 3},
-		"a recursor":            {count(num(2)), num(2), 7 + 7 + 4},
-		"a projection":          {second(mk(a, f)), f, 1},
-		"a sum":                 {add(num(1), num(1)), num(2), 14},
-		"one within another":    {app(lam(n, app(f, con("one"))), a), app(f, num(1)), 2},
-		"two, beside another":   {apply(f, con("one"), id(a)), apply(f, num(1), a), 4},
-		"one in a lambda":       {lam(con("one"), con("one")), lam(num(1), num(1)), 2},
-		"a lambda that is left": {app(lam(n, lam(n, vr(1))), vr(2)), lam(n, vr(3)), 1},
-	}
-	for what, c := range ways {
-		becomes(t, what, e, c.x, c.want, c.steps)
-		for where, in := range around() {
-			becomes(t, what+": "+where, e, in(c.x), in(c.want), c.steps)
+	for what, c := range sample.Unformed() {
+		becomes(t, what, e, c.X, c.Want, c.Steps)
+		for where, in := range sample.Places(lifted) {
+			becomes(t, what+": "+where, e, in(c.X), in(c.Want), c.Steps)
 		}
 	}
 }

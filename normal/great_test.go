@@ -16,32 +16,10 @@ import (
 // of: a normal form of k nodes, without variables.
 func of(k int) api.Term { return sample.OfSizeClosed(k) }
 
-// deep: a normal form of which k nodes stand in one another, f, applied to many in the place of its first one, again and again.
-func deep(k int) api.Term {
-	x := n
-	for k > 1 {
-		args := min(k-1, 1000)
-		x = apply(f, append([]api.Term{x}, slices.Repeat([]api.Term{n}, args-1)...)...)
-		k -= args
-	}
-	return x
-}
-
 // great: an environment with definitions that are as great as may be, or half so.
 func great(t *testing.T) *env.Env {
 	t.Helper()
-	ctor := func(name string, of string, fixed, fields int) api.Info {
-		return api.Info{Kind: api.IsCtor, Name: name, Type: n, Of: of, Fixed: fixed, Fields: fields}
-	}
-	return filled(t,
-		axiom(0, "N", srt(zero)), axiom(0, "S", n), axiom(0, "f", n), axiom(0, "y", n),
-		api.Info{Kind: api.IsType, Name: "R", Type: srt(zero), Record: true}, ctor("R.mk", "R", 1, 2),
-		api.Info{Kind: api.IsType, Name: "Q", Type: srt(zero), Record: true}, ctor("Q.mk", "Q", 0, 1),
-		def(0, "half", n, of(api.TopTerm/2-1)),
-		def(0, "full", n, of(api.TopTerm)),
-		def(0, "tall", n, deep(api.TopDepth/2)),
-		def(0, "top", n, deep(api.TopDepth)),
-	)
+	return filled(t, sample.GreatInfos()...)
 }
 
 // pair: a constructor of a structure with one fixed argument, of the fields of y.
@@ -187,7 +165,7 @@ func TestTooGreatAheadOfAContraction(t *testing.T) {
 	grows(t, "a structure, by its fixed one's nodes", e, api.TopTerm-2*16001-6, 2, func(k int) (x, want api.Term) {
 		return pair(of(k), con("some")), of(16001)
 	})
-	e.Add(def(0, "wide", n, of(api.TopTerm-3)), def(0, "wider", n, of(api.TopTerm-2)), def(0, "low", n, deep(api.TopDepth-2)), def(0, "lower", n, deep(api.TopDepth-1)))
+	e.Add(def(0, "wide", n, of(api.TopTerm-3)), def(0, "wider", n, of(api.TopTerm-2)), def(0, "low", n, sample.OfDepthClosed(api.TopDepth-2)), def(0, "lower", n, sample.OfDepthClosed(api.TopDepth-1)))
 	tells(t, "as many nodes as may be", e, lam(n, app(con("wide"), vr(0))), 1, api.Term{}, 0, api.ErrFuel)
 	becomes(t, "a body as deep as may be", e, lam(n, app(con("low"), vr(0))), value(e, "low"), 1)
 	ends(t, "a body that is deeper", e, lam(n, app(con("lower"), vr(0))))
@@ -199,7 +177,7 @@ func TestTooGreatAheadOfAContraction(t *testing.T) {
 // What is lost by contraction takes no room of that in which what is left comes to stand.
 func TestWhatIsLostTakesNoRoom(t *testing.T) {
 	e := great(t)
-	long, bulky := deep(api.TopDepth/2-3), of(20001)
+	long, bulky := sample.OfDepthClosed(api.TopDepth/2-3), of(20001)
 	for what, c := range map[string]struct {
 		x, want api.Term
 		steps   int
@@ -242,39 +220,10 @@ func isLost(t *testing.T, what string, e *env.Env, x, want api.Term, in func(x a
 	tells(t, what, e, in(con("it")), steps, in(want), 0, api.OK)
 }
 
-// self: what goes on without an end, as its body says; again is that in which it does.
-func self(body api.Term) api.Term { return app(lam(n, body), lam(n, body)) }
-
-var again = app(vr(0), vr(0))
-
 // Without an end, in what is put into its form: the fuel goes out, be it at once or later.
 func TestWithoutAnEnd(t *testing.T) {
 	e := basis(t)
-	for what, x := range map[string]api.Term{
-		"itself":                    self(again),
-		"within f":                  app(f, self(again)),
-		"within a lambda":           lam(n, self(again)),
-		"in f of it":                self(app(f, again)),
-		"in the second one":         self(apply(f, num(1), again)),
-		"in a lambda of it":         self(lam(n, app(vr(1), vr(1)))),
-		"in a domain of it":         self(lam(again, n)),
-		"in a domain that is lost":  self(lam(again, app(f, vr(0)))),
-		"in a Pi":                   self(pi(again, n)),
-		"in a Pi's body":            self(pi(n, app(vr(1), vr(1)))),
-		"in a Proj":                 self(prj("Pair", 0, app(f, again))),
-		"in a pair":                 self(mk(a, again)),
-		"in a pair's first":         self(mk(again, a)),
-		"in a pair's type":          self(apply(con("Pair.mk", zero, zero), again, n, first(p), second(p))),
-		"in a pair of fields":       self(both(app(f, again))),
-		"in a recursor":             self(apply(recN, n, again, n, a)),
-		"in a major one":            self(apply(recN, n, n, n, app(f, again))),
-		"in what is contracted":     self(lam(n, apply(f, app(vr(1), vr(1)), vr(0)))),
-		"in one more and one more":  self(succ(again)),
-		"in a list":                 self(apply(con("List.cons", zero), n, a, again)),
-		"in a lambda with a let":    self(lam(n, let(n, vr(0), app(vr(2), vr(2))))),
-		"in what is there twice":    self(apply(f, again, again)),
-		"in a lambda of what it is": self(lam(n, app(f, app(vr(1), vr(1))))),
-	} {
+	for what, x := range sample.EndlessForms() {
 		for _, fuel := range []int{0, 1, 2, 3, 10, 100, 3000} {
 			tells(t, what, e, x, fuel, api.Term{}, 0, api.ErrFuel)
 			says(t, what, e, x, a, fuel, api.Unsure)
@@ -285,25 +234,7 @@ func TestWithoutAnEnd(t *testing.T) {
 // What grows without an end is too great, however much fuel there is.
 func TestWhatGrowsWithoutAnEnd(t *testing.T) {
 	e := basis(t, axiom(0, "S", n))
-	power := con("one")
-	for range 16 {
-		power = app(con("double"), power)
-	}
-	for what, x := range map[string]api.Term{
-		"in f":                        self(app(f, again)),
-		"in f, twice":                 self(apply(f, again, again)),
-		"in f, with much":             self(apply(f, of(5001), again)),
-		"in a Pi":                     self(pi(again, n)),
-		"in a Pi's body, with much":   self(pi(of(5001), app(vr(1), vr(1)))),
-		"in a Proj":                   self(prj("Pair", 0, app(f, again))),
-		"in a recursor":               self(apply(recN, n, again, n, a)),
-		"in a lambda, with much":      self(lam(n, apply(f, of(5001), app(vr(1), vr(1))))),
-		"in a lambda that contracts":  self(lam(n, apply(f, app(vr(1), vr(1)), vr(0)))),
-		"in a pair of fields of that": self(both(apply(f, of(5001), again))),
-		"in one more and one more":    self(succ(again)),
-		"a great number":              power,
-		"a lambda":                    self(lam(n, app(vr(1), vr(1)))),
-	} {
+	for what, x := range sample.Growing() {
 		tells(t, what, e, x, math.MaxInt, api.Term{}, 0, api.ErrFuel)
 	}
 }

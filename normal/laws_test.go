@@ -16,17 +16,12 @@ import (
 
 func TestWhatMayNotBe(t *testing.T) {
 	e := basis(t)
-	redex := app(lam(n, vr(0)), a)
-	for _, b := range append(sample.Bads(), api.Term{K: api.Const, S: "one", N: 1}, con("id", sample.BadLevels()[2]), app(redex, api.Term{})) {
-		for _, x := range []api.Term{
-			b, app(con("one"), b), app(lam(n, n), b), lam(b, app(f, vr(0))), lam(n, app(b, vr(0))), app(b, a), pi(n, b), let(n, b, n),
-			prj("Pair", 0, b), both(b), mk(first(p), b), apply(recN, n, n, b, num(0)), app(vr(0), b),
-		} {
-			for _, fuel := range []int{0, 1000, math.MaxInt, -1} {
-				tells(t, "what may not be", e, x, fuel, api.Term{}, 0, api.ErrArg)
-			}
-			tells(t, "what may not be, of no environment", nil, x, 10, api.Term{}, 0, api.ErrNil)
+	for _, x := range sample.BadWithin() {
+		for _, fuel := range []int{0, 1, 1000, math.MaxInt, -1} {
+			tells(t, "what may not be", e, x, fuel, api.Term{}, 0, api.ErrArg)
 		}
+		tells(t, "what may not be, of no environment", nil, x, 10, api.Term{}, 0, api.ErrNil)
+		tells(t, "what may not be, below none, of no environment", nil, x, -10, api.Term{}, 0, api.ErrNil)
 	}
 }
 
@@ -203,7 +198,7 @@ func FuzzForm(f *testing.F) {
 		f.Add(sample.Scattered(k, 120), k*3)
 	}
 	f.Fuzz(func(t *testing.T, b []byte, fuel int) {
-		e := basis(t, def(1, "loose", srt(zero), lam(n, app(vr(0), vr(0))))) // with which there are terms without an end
+		e := basis(t, sample.Loose()) // with which there are terms without an end
 		x := (&sample.Reckoned{Bytes: sample.Bytes{B: b}}).Row(0)
 		if fuel < 0 {
 			tells(t, "fuel below none", e, x, fuel, api.Term{}, 0, api.ErrArg)

@@ -7,62 +7,23 @@ import (
 	"batten/term"
 )
 
-// most is how many weak heads may wait for one another: without it what has no end, but grows by nothing that stays, would take all memory. What is lost by contraction alone can go so deep.
-const most = 1 << 18
-
 // maker makes forms in an environment, with what is left of fuel.
 type maker struct {
 	e    *env.Env
 	left int
 }
 
-// form: a normal form; false, if the fuel goes out, or something is too great. What waits stands in a list, as nothing says how deep that goes.
-func (m *maker) form(t api.Term) (api.Term, bool) {
-	var waits []part
-	for in := whole(); ; {
-		p, is := m.opened(t, in)
-		if !is || len(waits) == most {
-			return api.Term{}, false
-		}
-		waits = append(waits, p)
-		last := &waits[len(waits)-1]
-		for last.isWhole() {
-			n, is := m.closed(last)
-			waits = waits[:len(waits)-1]
-			if !is || len(waits) == 0 {
-				return n, is
-			}
-			last = &waits[len(waits)-1]
-			last.take(n)
-		}
-		t, in = last.next()
-	}
-}
+// form: a normal form; false, if the fuel goes out, or something is too great.
+func (m *maker) form(t api.Term) (api.Term, bool) { return Join(m.e, t, m.opened) }
 
-// opened: the weak head of a term, whose terms wait for their forms, in such a room.
-func (m *maker) opened(t api.Term, in room) (part, bool) {
-	if in.nodes < 1 || in.deep < 1 {
-		return part{}, false
-	}
+// opened: the head of a term's weak head, what that is made of, and what it is applied to.
+func (m *maker) opened(t api.Term) (h api.Term, own, l []api.Term, is bool) {
 	w, left, f := reduce.Head(m.e, t, m.left)
 	if f != api.OK {
-		return part{}, false
+		return api.Term{}, nil, nil, false
 	}
 	m.left = left
-	h, l := term.Spine(w)
-	p := partOf(h, l, in)
-	if c, is := ctorOf(m.e, h); is && len(l) >= c.Fixed+c.Fields { // what is behind the fields a Lam around it may take off first
-		p.lost, p.more = c.Fixed, room{nodes: 1, deep: 1} // of a field a Proj is taken off
-	}
-	return p, true
-}
-
-// closed: the normal form of a weak head whose terms are forms.
-func (m *maker) closed(p *part) (api.Term, bool) {
-	h, l := p.spine()
-	n := term.Apply(h, l...)
-	if n.K == 0 {
-		return api.Term{}, false
-	}
-	return contracted(m.e, n), true
+	h, l = term.Spine(w)
+	own, h.T = h.T, nil
+	return h, own, l, true
 }

@@ -13,49 +13,53 @@ type room struct{ nodes, deep int }
 // whole: as much as there may be at all.
 func whole() room { return room{nodes: api.TopTerm, deep: api.TopDepth} }
 
-// part is a weak head, whose terms are put into their forms, one behind the other.
-type part struct {
-	head  api.Term
-	terms []api.Term // those of the head, and then what it is applied to
-	done  int        // so many of them are forms
-	in    room       // of the whole
-	lost  int        // so many of them, the first ones, may be lost by contraction
-	more  room       // the others may have so much more than the whole, as contraction takes that off
+// part is a weak head, whose own parts are put into their forms, one behind the other.
+type part[P any] struct {
+	head  api.Term // without the terms that it is made of
+	own   int      // so many of these there are
+	parts []P      // they, and then what the head is applied to
+	forms []api.Term
+	in    room // of the whole
+	lost  int  // so many parts, the first ones, may be lost by contraction
+	more  room // the others may have so much more than the whole, as contraction takes that off
+	held  int  // so much is held for it, and for all that wait for it
 }
 
-func partOf(h api.Term, l []api.Term, in room) part {
-	p := part{head: h, terms: slices.Concat(h.T, l), in: in, more: room{nodes: -1, deep: -1}}
+func partOf[P any](h api.Term, own, l []P, in room) part[P] {
+	p := part[P]{head: h, own: len(own), parts: slices.Concat(own, l), in: in, more: room{nodes: -1, deep: -1}}
+	p.held = each + len(p.parts)
 	if h.K == api.Lam { // its domain is lost, and of its body an App and a Var
 		p.lost, p.more = 1, room{nodes: 2, deep: 1}
 	}
 	return p
 }
 
-func (p *part) isWhole() bool { return p.done == len(p.terms) }
+func (p *part[P]) isWhole() bool { return len(p.forms) == len(p.parts) }
 
 // next: what is to be put into its form, and in which room.
-func (p *part) next() (api.Term, room) {
-	if p.done < p.lost {
-		return p.terms[p.done], whole()
+func (p *part[P]) next() (P, room) {
+	x := p.parts[len(p.forms)]
+	if len(p.forms) < p.lost {
+		return x, whole()
 	}
-	return p.terms[p.done], room{nodes: p.in.nodes + p.more.nodes, deep: p.in.deep + p.more.deep}
+	return x, room{nodes: p.in.nodes + p.more.nodes, deep: p.in.deep + p.more.deep}
 }
 
 // take the form of what was next.
-func (p *part) take(n api.Term) {
-	p.terms[p.done] = n
-	p.done++
+func (p *part[P]) take(n api.Term) {
+	nodes := term.Size(n)
+	p.forms = append(p.forms, n)
+	p.held += nodes
 	if p.more.nodes < 0 { // it stays, and the others have less
-		p.in.nodes -= term.Size(n)
+		p.in.nodes -= nodes
 	}
 }
 
 // spine: the head with its terms, and what it is applied to.
-func (p *part) spine() (h api.Term, l []api.Term) {
+func (p *part[P]) spine() (h api.Term, l []api.Term) {
 	h = p.head
-	own := len(h.T)
-	if own > 0 {
-		h.T = slices.Clone(p.terms[:own])
+	if p.own > 0 {
+		h.T = slices.Clone(p.forms[:p.own])
 	}
-	return h, p.terms[own:]
+	return h, p.forms[p.own:]
 }

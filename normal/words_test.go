@@ -23,10 +23,9 @@ var (
 	first, second     = sample.First, sample.Second
 	both, swap        = sample.Both, sample.Swap
 	id, add           = sample.Id, sample.Add
-	list, sum         = sample.List, sample.Sum
 	text, zeroTerm    = sample.Text, sample.IsZero
 
-	axiom, def, theorem, rule = sample.IsAxiom, sample.IsDef, sample.IsTheorem, sample.Rule
+	axiom, def = sample.IsAxiom, sample.IsDef
 )
 
 // Of the sample: axioms, a recursor at the level 0, and types.

@@ -134,6 +134,21 @@ func Bads() []api.Term {
 	)
 }
 
+// BadWithin: terms that may not be, or in which one stands, at the head, and in all places that a step may lose.
+func BadWithin() []api.Term {
+	n, a, f, recN := Const("N"), Const("a"), Const("f"), Const("N.rec", Zero)
+	redex := App(Lam(n, Var(0)), a)
+	var out []api.Term
+	for _, b := range append(Bads(), api.Term{K: api.Const, S: "one", N: 1}, Const("id", BadLevels()[2]), App(redex, api.Term{})) {
+		out = append(out,
+			b, App(Const("one"), b), App(b, a), App(Var(0), b), App(Lam(n, n), b), App(Lam(b, n), a), Lam(b, n), Lam(b, App(f, Var(0))), Lam(n, App(b, Var(0))),
+			Pi(n, b), Let(n, b, n), Let(b, a, n), First(b), First(Mk(a, b)), Both(b), Mk(First(Const("p")), b), Apply(recN, n, n, b, Num(0)), Apply(recN, n, n, n, b),
+			App(Self(App(Var(0), Var(0))), b),
+		)
+	}
+	return out
+}
+
 // endless: terms that stand in themselves.
 func endless() []api.Term {
 	var out []api.Term

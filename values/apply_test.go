@@ -198,7 +198,7 @@ func TestApplyOfTwoEnvironments(t *testing.T) {
 	if r.Kind() != api.Const || r.Args() != 4 {
 		t.Fatalf("%v", tells(r))
 	}
-	rd := reader{left: 200}
+	rd := readerOf(200)
 	want := mk(con("late"), mk(num(2), num(3)))
 	if got := rd.read(r, 0); text(got) != text(want) {
 		t.Fatalf("%s", text(got))

@@ -13,45 +13,14 @@ import (
 
 // P11.1, R1: what has no type, among it what has no end, and what goes deep. The call ends.
 
-// self: what does to itself what the body does to the variable 0.
-func self(body api.Term) api.Term { return app(lam(n, body), lam(n, body)) }
-
-// endless: terms that go on without an end, one step or more each time.
-func endless() map[string]api.Term {
-	again := app(vr(0), vr(0))
-	return map[string]api.Term{
-		"itself":                       self(again),
-		"in a let":                     self(let(n, vr(0), again)),
-		"in a let of itself":           self(let(n, again, vr(0))),
-		"of a definition":              self(apply(con("id", zero), n, again)),
-		"within a recursor":            self(count(again)),
-		"within a projection":          self(first(again)),
-		"within many":                  self(first(second(count(first(second(again)))))),
-		"within both":                  self(second(apply(recN, n, n, n, again))),
-		"in what a field is":           self(second(mk(n, again))),
-		"in what a recursor becomes":   self(apply(recN, n, again, n, num(0))),
-		"what is longer each time":     self(apply(vr(0), vr(0), apply(f, con("one"), vr(0)))),
-		"what is twice as great":       app(self(lam(n, apply(vr(1), vr(1), apply(f, vr(0), vr(0))))), n),
-		"what is deeper":               app(self(lam(n, apply(vr(1), vr(1), app(f, app(f, vr(0)))))), n),
-		"what is deeper, and looks":    app(self(lam(n, apply(vr(1), vr(1), count(first(vr(0)))))), a),
-		"what is deeper, by itself":    self(app(lam(n, app(vr(1), vr(1))), vr(0))),
-		"by a loose definition":        app(con("loose", zero), con("loose", zero)),
-		"by that, of a pair":           first(app(con("loose", zero), lam(n, mk(app(vr(0), vr(0)), first(app(vr(0), vr(0))))))),
-		"a lambda within":              self(lam(n, apply(vr(1), vr(1), vr(0)))),
-		"three of itself":              app(lam(n, apply(vr(0), vr(0), vr(0))), lam(n, apply(vr(0), vr(0), vr(0)))),
-		"a recursor at what has none":  apply(con("List.rec", zero, zero), n, n, n, n, self(again)),
-		"what is dropped has none too": app(lam(n, self(again)), self(again)),
-	}
-}
-
 func loose(t *testing.T) *env.Env {
 	t.Helper()
-	return basis(t, def(1, "loose", srt(zero), lam(n, app(vr(0), vr(0)))))
+	return basis(t, sample.Loose())
 }
 
 func TestWithoutAnEnd(t *testing.T) {
 	e := loose(t)
-	for what, x := range endless() {
+	for what, x := range sample.EndlessHeads() {
 		for _, fuel := range []int{0, 1, 2, 3, 10, 1000, 10000, 100000} {
 			ends(t, what, e, x, fuel)
 			ends(t, what+", dropped", e, app(lam(n, a), x), fuel)
@@ -64,7 +33,7 @@ func TestWithoutAnEnd(t *testing.T) {
 	}
 	for _, what := range []string{"itself", "in a let", "of a definition", "within a recursor", "within many", "in what a field is", "what is twice as great", "what is deeper, and looks"} {
 		for _, fuel := range []int{0, 1, 10, 1000, 100000} {
-			fails(t, what, e, endless()[what], fuel, api.ErrFuel)
+			fails(t, what, e, sample.EndlessHeads()[what], fuel, api.ErrFuel)
 		}
 	}
 }
@@ -74,10 +43,10 @@ func TestWithoutAnEndAndWithFuel(t *testing.T) {
 	e := loose(t)
 	again := app(vr(0), vr(0))
 	for _, fuel := range []int{1 << 24, 1 << 40, math.MaxInt} {
-		fails(t, "what is longer each time", e, endless()["what is longer each time"], fuel, api.ErrFuel)
+		fails(t, "what is longer each time", e, sample.EndlessHeads()["what is longer each time"], fuel, api.ErrFuel)
 	}
-	fails(t, "what waits for itself", e, self(sample.OfDepth(64, again, first)), 1<<30, api.ErrFuel)
-	fails(t, "that, in a recursor", e, self(sample.OfDepth(100, again, count)), math.MaxInt, api.ErrFuel)
+	fails(t, "what waits for itself", e, sample.Self(sample.OfDepth(64, again, first)), 1<<30, api.ErrFuel)
+	fails(t, "that, in a recursor", e, sample.Self(sample.OfDepth(100, again, count)), math.MaxInt, api.ErrFuel)
 }
 
 // What there is to apply when there is no type.
@@ -86,8 +55,8 @@ func TestApplyOfWhatHasNoType(t *testing.T) {
 	var l []*Value
 	for _, x := range []api.Term{
 		lam(n, app(vr(0), vr(0))), con("loose", two), srt(zero), pi(n, n), num(0), num(1), first(p), count(a), recN, apply(recN, n, n, n),
-		lam(n, count(app(vr(0), vr(0)))), lam(n, first(app(vr(0), vr(0)))), lam(n, lam(n, apply(vr(1), vr(1), app(vr(0), vr(0))))), apply(f, self(app(vr(0), vr(0)))),
-		lam(n, let(n, vr(0), app(vr(0), vr(0)))), mk(a, self(app(vr(0), vr(0)))), lam(n, first(vr(0))), lam(n, second(vr(0))), lam(n, apply(recN, n, vr(0), vr(0), vr(0))),
+		lam(n, count(app(vr(0), vr(0)))), lam(n, first(app(vr(0), vr(0)))), lam(n, lam(n, apply(vr(1), vr(1), app(vr(0), vr(0))))), apply(f, sample.Self(app(vr(0), vr(0)))),
+		lam(n, let(n, vr(0), app(vr(0), vr(0)))), mk(a, sample.Self(app(vr(0), vr(0)))), lam(n, first(vr(0))), lam(n, second(vr(0))), lam(n, apply(recN, n, vr(0), vr(0), vr(0))),
 	} {
 		l = append(l, of(t, e, x))
 	}
@@ -131,7 +100,7 @@ func TestWhatIsTooGreat(t *testing.T) {
 // deeper: what is k times looked at, of a, made by as many steps as that asks for, with none where it is looked at.
 func deeper(k int) api.Term {
 	next := lam(n, lam(unary, lam(n, app(vr(1), apply(recN, n, n, n, vr(0))))))
-	return apply(recN, lam(n, unary), lam(n, vr(0)), next, power(k), a)
+	return apply(recN, lam(n, unary), lam(n, vr(0)), next, sample.Power(k), a)
 }
 
 // What waits for one another without a step between: as many as a term may have; no more.
@@ -150,12 +119,12 @@ func TestWhatWaitsWithoutAStep(t *testing.T) {
 // A number's being odd waits for that of the one below it, and so on: as deep as the number is great. Nothing calls itself.
 func TestDeepWithin(t *testing.T) {
 	e := basis(t)
-	obeyed(t, e, odd(power(6)), 1<<20)
-	v, _, f := Of(e, odd(succ(power(15))), 1<<30)
+	obeyed(t, e, sample.Odd(sample.Power(6)), 1<<20)
+	v, _, f := Of(e, sample.Odd(succ(sample.Power(15))), 1<<30)
 	if f != api.OK || tells(v) != (is{api.Const, "N.succ", 1}) {
 		t.Fatalf("error %d, %v", f, tells(v))
 	}
-	v, _, f = Of(e, odd(power(15)), 1<<30)
+	v, _, f = Of(e, sample.Odd(sample.Power(15)), 1<<30)
 	if f != api.OK || tells(v) != (is{api.Const, "N.zero", 0}) {
 		t.Fatalf("error %d, %v", f, tells(v))
 	}

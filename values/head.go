@@ -5,12 +5,16 @@ import (
 	"batten/env"
 )
 
-// head is what a value is at its head: one of the kinds below.
-type head any
+// Head is what a value is at its head: one of the kinds below. Each of them is read back by a method of its own.
+type Head interface {
+	// Read: the node of the head, under so many binders, without the terms that it is made of; and these, which wait.
+	Read(under int) (node api.Term, own []Part)
+}
 
 type (
+	nothing  struct{} // the head of no value
 	sort     struct{ t *api.Term }
-	variable struct{ n int }       // a free one, by its number outside of all binders
+	variable struct{ n int }       // by its number outside of all binders: below 0, if one that is read back binds it
 	constant struct{ t *api.Term } // of which nothing comes, whatever it is applied to
 	recursor struct {              // that is applied to too few to look at one
 		t *api.Term
@@ -31,7 +35,7 @@ type (
 )
 
 // tell: a head's kind, and its name.
-func tell(h head) (kind uint8, name string) {
+func tell(h Head) (kind uint8, name string) {
 	switch h := h.(type) {
 	case sort:
 		return api.Sort, ""

@@ -15,18 +15,12 @@ import (
 
 func TestWhatMayNotBe(t *testing.T) {
 	e := basis(t)
-	redex := app(lam(n, vr(0)), a)
-	for _, b := range append(sample.Bads(), api.Term{K: api.Const, S: "one", N: 1}, con("id", sample.BadLevels()[2]), app(redex, api.Term{})) {
-		for _, x := range []api.Term{
-			b, app(con("one"), b), app(lam(n, n), b), lam(b, n), app(b, a), pi(n, b), let(n, b, n), let(b, a, n),
-			first(b), mk(a, b), apply(recN, n, n, b, num(0)), apply(recN, n, n, n, b), app(vr(0), b),
-		} {
-			for _, fuel := range []int{0, 1, 1000, math.MaxInt, -1} {
-				fails(t, "what may not be", e, x, fuel, api.ErrArg)
-			}
-			fails(t, "what may not be, of no environment", nil, x, 10, api.ErrNil)
-			fails(t, "what may not be, below none, of no environment", nil, x, -10, api.ErrNil)
+	for _, x := range sample.BadWithin() {
+		for _, fuel := range []int{0, 1, 1000, math.MaxInt, -1} {
+			fails(t, "what may not be", e, x, fuel, api.ErrArg)
 		}
+		fails(t, "what may not be, of no environment", nil, x, 10, api.ErrNil)
+		fails(t, "what may not be, below none, of no environment", nil, x, -10, api.ErrNil)
 	}
 }
 
@@ -104,7 +98,7 @@ func TestWhatIsAddedLater(t *testing.T) {
 
 // whole: all that can be told of a value, as text.
 func whole(v *Value) string {
-	r := reader{left: 300}
+	r := readerOf(300)
 	x := r.read(v, 0)
 	return string(rune('0'+v.Kind())) + v.Name() + text(vr(v.Args())) + text(x)
 }

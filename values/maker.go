@@ -14,16 +14,36 @@ const (
 	out              // the fuel goes out, or something is too great
 )
 
-// maker makes values with what is left of fuel. Each step takes 1, as it does in reduce, and what is asked again is made again: so enough is enough, and what is asked says nothing to what comes later.
-type maker struct {
+// Maker makes values, one behind the other, with what is left of fuel. Each step takes 1, as it does in reduce, and what is asked again is made again: so enough is enough, and what is asked says nothing to what comes later.
+type Maker struct {
 	left   int
 	nodes  int // gone through since the last step
 	told   told
 	behind []func(v *Value) (state, move) // what is to be done with the value of a part, the innermost one's last
 }
 
+// NewMaker: one with so much fuel.
+func NewMaker(fuel int) *Maker { return &Maker{left: max(fuel, 0), told: told{}} }
+
+// Left: what is left of the fuel.
+func (m *Maker) Left() int {
+	if m == nil {
+		return 0
+	}
+	return m.left
+}
+
+// Value: of a part; nil, if the fuel goes out, or something is too great.
+func (m *Maker) Value(p Part) *Value {
+	if m == nil || m.told == nil || p.wait == nil { // no call has made it
+		return nil
+	}
+	return m.value(p.wait(nil))
+}
+
 // value: that of a state; nil, if the fuel goes out, or something is too great.
-func (m *maker) value(s state) *Value {
+func (m *Maker) value(s state) *Value {
+	m.nodes, m.behind = 0, m.behind[:0]
 	for {
 		next, by := m.next(s)
 		if by == rest {
@@ -41,7 +61,7 @@ func (m *maker) value(s state) *Value {
 }
 
 // next: what a state is gone on with.
-func (m *maker) next(s state) (state, move) {
+func (m *Maker) next(s state) (state, move) {
 	switch {
 	case s.to.len() >= api.TopDepth:
 		return state{}, out
@@ -60,7 +80,7 @@ func (m *maker) next(s state) (state, move) {
 }
 
 // opened: what a term is gone on with.
-func (m *maker) opened(s state) (state, move) {
+func (m *Maker) opened(s state) (state, move) {
 	t, in := s.t, s.in
 	switch t.K {
 	case api.Sort:
@@ -82,7 +102,7 @@ func (m *maker) opened(s state) (state, move) {
 }
 
 // named: what a Const is gone on with.
-func (m *maker) named(s state) (state, move) {
+func (m *Maker) named(s state) (state, move) {
 	t, e := s.t, s.in.e
 	switch x, _ := e.Find(t.S); x.Kind {
 	case api.IsDef:
@@ -99,7 +119,7 @@ func (m *maker) named(s state) (state, move) {
 }
 
 // looked: what a recursor is gone on with, if it looks at one of those that it is applied to.
-func (m *maker) looked(h recursor, to *list) (state, move) {
+func (m *Maker) looked(h recursor, to *list) (state, move) {
 	at := m.told.major(h.e, h.t, to.len())
 	if at < 0 {
 		return state{}, rest
@@ -118,7 +138,7 @@ func (m *maker) looked(h recursor, to *list) (state, move) {
 }
 
 // projected: what a Proj is gone on with.
-func (m *maker) projected(s state) (state, move) {
+func (m *Maker) projected(s state) (state, move) {
 	t, e := s.t, s.in.e
 	of, by := m.down(state{t: &t.T[0], in: s.in})
 	if by == out {
@@ -135,7 +155,7 @@ func (m *maker) projected(s state) (state, move) {
 }
 
 // step: to a state, by 1 of fuel.
-func (m *maker) step(s state) (state, move) {
+func (m *Maker) step(s state) (state, move) {
 	if m.left == 0 {
 		return state{}, out
 	}
@@ -145,7 +165,7 @@ func (m *maker) step(s state) (state, move) {
 }
 
 // down: into a node. Without a step no more of them are gone through than a term may have, or it were too great.
-func (m *maker) down(s state) (state, move) {
+func (m *Maker) down(s state) (state, move) {
 	m.nodes++
 	if m.nodes > api.TopTerm {
 		return state{}, out
@@ -154,7 +174,7 @@ func (m *maker) down(s state) (state, move) {
 }
 
 // within: to a part, with whose value something is to be done.
-func (m *maker) within(s state, do func(v *Value) (state, move)) (state, move) {
+func (m *Maker) within(s state, do func(v *Value) (state, move)) (state, move) {
 	if len(m.behind) == most {
 		return state{}, out
 	}
@@ -163,7 +183,7 @@ func (m *maker) within(s state, do func(v *Value) (state, move)) (state, move) {
 }
 
 // back: what the value of the innermost part is gone on with.
-func (m *maker) back(v *Value) (state, move) {
+func (m *Maker) back(v *Value) (state, move) {
 	last := len(m.behind) - 1
 	do := m.behind[last]
 	m.behind[last] = nil // what it holds is not needed any more

@@ -74,44 +74,13 @@ func TestTheSample(t *testing.T) {
 // All reckoning is as it is with numbers.
 func TestTheSampleReckons(t *testing.T) {
 	e := basis(t)
-	mul := func(x, y api.Term) api.Term {
-		return apply(recN, lam(n, n), num(0), lam(n, app(con("add"), x)), y)
-	}
-	reckons := func(what string, x api.Term, want int) {
-		t.Helper()
-		v, left, g := Of(e, x, 1<<20)
-		r := reader{left: left}
-		if got := r.read(v, 0); g != api.OK || r.out || text(got) != text(num(want)) {
-			t.Errorf("%s: error %d, %.300s, want %d", what, g, text(got), want)
+	for what, c := range sample.Reckonings() {
+		v, left, g := Of(e, c.X, 1<<20)
+		r := readerOf(left)
+		if got := r.read(v, 0); g != api.OK || r.out || text(got) != text(num(c.Want)) {
+			t.Errorf("%s: error %d, %.300s, want %d", what, g, text(got), c.Want)
 		}
 	}
-	for i := range 6 {
-		for j := range 6 {
-			reckons("a sum", add(num(i), num(j)), i+j)
-			reckons("a product", mul(num(i), num(j)), i*j)
-			reckons("the sum of a list", sum(row(num(i), con("one"), num(j))), i+j+1)
-		}
-	}
-	reckons("a power", power(8), 256)
-	next := lam(n, lam(couple, mk(second(vr(0)), add(first(vr(0)), second(vr(0))))))
-	reckons("a recursor that asks for another one", first(apply(recN, lam(n, couple), mk(num(0), num(1)), next, num(9))), 34)
-	reckons("an odd one", odd(num(7)), 1)
-	reckons("an even one", odd(power(5)), 0)
-}
-
-// power: 2 to the k-th, by double.
-func power(k int) api.Term {
-	x := con("one")
-	for range k {
-		x = app(con("double"), x)
-	}
-	return x
-}
-
-// odd: 1, if a number is odd, else 0; all that is below it waits for it.
-func odd(x api.Term) api.Term {
-	not := apply(recN, lam(n, n), num(1), lam(n, lam(n, num(0))), vr(0))
-	return apply(recN, lam(n, n), num(0), lam(n, lam(n, not)), x)
 }
 
 // All names of the sample, at any number of levels, of any number of arguments.

@@ -9,7 +9,7 @@ import (
 type state struct {
 	t    *api.Term
 	in   around
-	head head
+	head Head
 	to   *list
 }
 

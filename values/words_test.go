@@ -21,7 +21,7 @@ var (
 	apply, num        = sample.Apply, sample.Num
 	mk, succ, count   = sample.Mk, sample.Succ, sample.Count
 	first, second     = sample.First, sample.Second
-	both, swap        = sample.Both, sample.Swap
+	swap              = sample.Swap
 	id, add           = sample.Id, sample.Add
 	row, sum          = sample.List, sample.Sum
 	text              = sample.Text
@@ -79,47 +79,31 @@ func headOf(w api.Term) is {
 
 // reader reads all that waits in values, with what is left of fuel.
 type reader struct {
-	left int
-	out  bool // it was not enough
+	m   *Maker
+	out bool // it was not enough
 }
+
+func readerOf(fuel int) reader { return reader{m: NewMaker(fuel)} }
 
 // read: the term that a value stands for, with so many binders around it. Nothing is contracted.
 func (r *reader) read(v *Value, under int) api.Term {
 	if v == nil || r.out {
 		return api.Term{}
 	}
-	var t api.Term
-	switch h := v.head.(type) {
-	case sort:
-		t = *h.t
-	case variable:
-		t = vr(h.n + under)
-	case constant:
-		t = *h.t
-	case recursor:
-		t = *h.t
-	case lambda:
-		t = r.bound(api.Lam, h.t, h.in, under)
-	case functions:
-		t = r.bound(api.Pi, h.t, h.in, under)
-	case field:
-		t = prj(h.t.S, h.t.N, r.read(h.of, under))
+	t, own := v.Head().Read(under)
+	for _, x := range own {
+		t.T = append(t.T, r.waits(x))
 	}
-	for l := v.args; l != nil; l = l.rest {
-		t = app(t, r.waits(l.first, under))
+	for _, x := range v.List(under) {
+		t = app(t, r.waits(x))
 	}
 	return t
 }
 
-func (r *reader) bound(k uint8, t *api.Term, in around, under int) api.Term {
-	own := func(to *list) state { return state{head: variable{-1 - under}, to: to} }
-	return sample.Node(k, r.waits(in.later(&t.T[0]), under), r.waits(in.with(own).later(&t.T[1]), under+1))
-}
-
-func (r *reader) waits(w wait, under int) api.Term {
-	v, left, f := made(w(nil), r.left)
-	r.left, r.out = left, r.out || f != api.OK
-	return r.read(v, under)
+func (r *reader) waits(p Part) api.Term {
+	v := r.m.Value(p)
+	r.out = r.out || v == nil
+	return r.read(v, p.Under)
 }
 
 // plain: a term, all of which is put into weak heads by reduce, with what is left of fuel. Nothing is contracted.
@@ -178,7 +162,7 @@ func reads(t *testing.T, what string, e *env.Env, v *Value, x api.Term, fuel int
 	if !may || !term.May(want) {
 		return
 	}
-	r := reader{left: fuel}
+	r := readerOf(fuel)
 	if got := r.read(v, 0); r.out || !term.Same(got, want) {
 		t.Fatalf("%.300s: %.500s, want %.500s (out: %v)", what, text(got), text(want), r.out)
 	}
