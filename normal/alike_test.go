@@ -12,64 +12,24 @@ import (
 
 // P10.2.
 
-// kin: terms, those of one list with one form, those of different ones with different forms; and how many steps each takes.
-func kin() [][]struct {
-	x     api.Term
-	steps int
-} {
-	type of = []struct {
-		x     api.Term
-		steps int
-	}
-	return [][]struct {
-		x     api.Term
-		steps int
-	}{
-		of{{a, 0}, {id(a), 3}, {let(n, a, vr(0)), 1}, {first(mk(a, f)), 1}, {add(a, num(0)), 7}, {both(a), 0}},
-		of{{num(2), 0}, {add(num(1), num(1)), 14}, {succ(con("one")), 1}, {app(con("double"), con("one")), 18}},
-		of{{num(1), 0}, {con("one"), 1}, {add(num(1), num(0)), 7}},
-		of{{num(3), 0}},
-		of{{f, 0}, {lam(n, app(f, vr(0))), 0}, {lam(unary, app(f, id(vr(0)))), 3}},
-		of{{p, 0}, {both(p), 0}, {swap(swap(p)), 14}, {lam(n, app(p, vr(0))), 0}},
-		of{{swap(p), 4}, {mk(second(p), first(p)), 0}},
-		of{{lam(n, vr(0)), 0}, {app(con("id", zero), n), 2}},
-		of{{lam(unary, vr(0)), 0}, {app(con("id", zero), unary), 2}, {lam(unary, lam(n, app(vr(1), vr(0)))), 0}},
-		of{{vr(0), 0}, {both(vr(0)), 0}},
-		of{{vr(1), 0}, {lam(n, app(vr(2), vr(0))), 0}},
-		of{{srt(zero), 0}, {apply(con("id", two), srt(two), srt(zero)), 3}},
-		of{{srt(two), 0}},
-		of{{pi(n, n), 0}, {pi(id(n), apply(con("id", zero), srt(zero), n)), 6}},
-		of{{pi(n, vr(0)), 0}},
-		of{{con("id", zero), 1}, {lam(srt(zero), lam(vr(0), vr(0))), 0}},
-		of{{con("id", two), 1}, {lam(srt(two), lam(vr(0), vr(0))), 0}},
-		of{{con("Pair", zero, zero), 0}},
-		of{{con("Pair", zero, two), 0}},
-		of{{first(p), 0}, {second(swap(p)), 5}},
-		of{{prj("Other", 0, p), 0}},
-		of{{second(p), 0}, {first(swap(p)), 5}},
-		of{{con("none"), 0}},
-		of{{app(con("none"), con("one")), 1}, {app(con("none"), num(1)), 0}},
-	}
-}
-
-// Each two of them, with just enough, with one less, and with too little for the first.
+// Each two of kin, with just enough, with one less, and with too little for the first.
 func TestAlikeByForms(t *testing.T) {
 	e := basis(t)
-	for i, l := range kin() {
+	for i, l := range sample.Kin() {
 		for _, x := range l {
-			for j, m := range kin() {
+			for j, m := range sample.Kin() {
 				for _, y := range m {
 					want := api.Unlike
 					if i == j {
 						want = api.Alike
 					}
-					steps := x.steps + y.steps
+					steps := x.Steps + y.Steps
 					for _, fuel := range []int{steps, steps + 1, 1000, math.MaxInt} {
-						says(t, "both", e, x.x, y.x, fuel, want)
+						says(t, "both", e, x.X, y.X, fuel, want)
 					}
 					if steps > 0 {
-						says(t, "one less", e, x.x, y.x, steps-1, api.Unsure)
-						says(t, "none", e, x.x, y.x, 0, api.Unsure)
+						says(t, "one less", e, x.X, y.X, steps-1, api.Unsure)
+						says(t, "none", e, x.X, y.X, 0, api.Unsure)
 					}
 				}
 			}

@@ -2,14 +2,12 @@ package quote
 
 import (
 	"math"
-	"slices"
 	"testing"
 
 	"batten/api"
 	"batten/env"
 	"batten/normal"
 	"batten/sample"
-	"batten/term"
 )
 
 // P12.1, R1: what has no type, among it what has no end, and what is too great. The call ends.
@@ -38,16 +36,7 @@ func TestWhatGrows(t *testing.T) {
 	for what, x := range sample.Growing() {
 		fails(t, what, e, x, math.MaxInt, api.ErrFuel)
 	}
-	many := slices.Repeat([]api.Term{n}, 3000)
-	again := app(vr(0), vr(0))
-	for what, x := range map[string]api.Term{ // what is lost by contraction grows by nothing
-		"in a domain that is lost":            sample.Self(lam(again, app(f, vr(0)))),
-		"in a domain that is lost, with many": sample.Self(lam(apply(f, append([]api.Term{again}, many...)...), app(f, vr(0)))),
-		"in one behind many":                  sample.Self(lam(apply(f, append(many, again)...), app(f, vr(0)))),
-		"in a pair's type":                    sample.Self(apply(con("Pair.mk", zero, zero), again, n, first(p), second(p))),
-		"in a pair's other type":              sample.Self(apply(con("Pair.mk", zero, zero), apply(f, many...), again, first(p), second(p))),
-		"in lambdas":                          sample.Self(lam(n, app(vr(1), vr(1)))),
-	} {
+	for what, x := range sample.Lost() {
 		fails(t, what, e, x, math.MaxInt, api.ErrFuel)
 	}
 }
@@ -55,11 +44,7 @@ func TestWhatGrows(t *testing.T) {
 // Any terms of small ones that are applied to themselves.
 func TestWhatHasNoType(t *testing.T) {
 	e := basis(t, sample.Loose())
-	l := []api.Term{
-		lam(n, app(vr(0), vr(0))), con("loose", two), srt(zero), pi(n, n), num(1), first(p), count(a), recN, lam(n, lam(n, apply(vr(1), vr(1), vr(0)))),
-		lam(n, count(app(vr(0), vr(0)))), lam(n, first(app(vr(0), vr(0)))), lam(n, lam(n, apply(vr(1), vr(1), app(vr(0), vr(0))))), lam(n, both(vr(0))),
-		lam(n, let(n, vr(0), app(vr(0), vr(0)))), lam(n, first(vr(0))), lam(n, apply(recN, n, vr(0), vr(0), vr(0))), lam(n, lam(vr(0), app(vr(1), vr(0)))),
-	}
+	l := sample.Untyped()
 	for _, x := range l {
 		for _, y := range l {
 			for _, fuel := range []int{0, 1, 5, 1000, 20000} {
@@ -99,55 +84,15 @@ func great(t *testing.T) *env.Env {
 func TestWhatIsTooGreat(t *testing.T) {
 	e := great(t)
 	fits, not := 0, 0
-	obeys := func(x api.Term) {
-		t.Helper()
+	for _, x := range sample.Limits() {
 		want, left, g := normal.Form(e, x, 10)
 		if g == api.OK {
 			fits++
 			tells(t, "as great as may be", e, x, 10, want, left)
-			return
+			continue
 		}
 		not++
 		fails(t, "too great", e, x, math.MaxInt, api.ErrFuel)
-	}
-	pair := func(fixed, y api.Term) api.Term { return apply(con("R.mk"), fixed, prj("R", 0, y), prj("R", 1, y)) }
-	long := func(x api.Term, k int) api.Term { return apply(x, slices.Repeat([]api.Term{n}, k)...) }
-	half, tall := api.TopTerm/2-1, api.TopDepth/2
-	for _, in := range []func(x, y api.Term) api.Term{
-		func(x, y api.Term) api.Term { return apply(f, x, y) },
-		func(x, y api.Term) api.Term { return apply(vr(0), y, a, x) },
-		func(x, y api.Term) api.Term { return lam(x, y) },
-		func(x, y api.Term) api.Term { return app(pi(n, x), y) },
-		func(x, y api.Term) api.Term { return app(prj("R", 0, x), y) },
-		func(x, y api.Term) api.Term { return apply(con("R.mk"), x, n, y) },
-		func(x, y api.Term) api.Term { return lam(x, app(y, vr(0))) },
-		func(x, y api.Term) api.Term { return pair(x, apply(f, y)) },
-	} {
-		beside := term.Size(in(n, n)) - 2
-		for k := range 2 {
-			obeys(in(con("half"), sample.OfSizeClosed(api.TopTerm-half-beside+k)))
-			obeys(in(sample.OfSizeClosed((api.TopTerm-half-beside)/2+k), con("half")))
-		}
-	}
-	for _, in := range []func(x api.Term) api.Term{
-		func(x api.Term) api.Term { return app(f, x) },
-		func(x api.Term) api.Term { return lam(n, apply(vr(0), x)) },
-		func(x api.Term) api.Term { return lam(app(f, x), n) },
-		func(x api.Term) api.Term { return pi(n, x) },
-		func(x api.Term) api.Term { return pi(x, n) },
-		func(x api.Term) api.Term { return prj("R", 1, x) },
-		func(x api.Term) api.Term { return pair(x, f) },
-	} {
-		for k := range 6 {
-			obeys(long(in(con("tall")), tall-4+k))
-			obeys(in(long(app(f, con("tall")), tall-5+k)))
-		}
-	}
-	for _, s := range []string{"full", "top"} {
-		obeys(con(s))
-		for _, x := range []api.Term{prj("S", 0, con(s)), lam(n, con(s)), lam(con(s), n), pi(n, con(s)), app(f, con(s)), app(con(s), n), lam(con(s), app(f, vr(0))), pair(con(s), con("y"))} {
-			obeys(x)
-		}
 	}
 	if fits < 20 || not < 20 {
 		t.Errorf("%d, and %d too great", fits, not)

@@ -151,13 +151,7 @@ func lawful(t *testing.T, e *env.Env, x, of api.Term) bool {
 	tells(t, "by a let", e, let(of, x, vr(0)), steps+1, want, 0)
 	tells(t, "by a definition", e, apply(con("id", zero), of, x), steps+3, want, 0)
 	tells(t, "by a field", e, second(mk(a, x)), steps+1, want, 0)
-	longer := x
-	switch {
-	case of.K == api.Pi:
-		longer = lam(of.T[0], app(lifted(x), vr(0)))
-	case of.K == api.App && of.T[0].K == api.App:
-		longer = apply(con("Pair.mk", zero, zero), of.T[0].T[1], of.T[1], first(x), second(x))
-	}
+	longer := sample.Longer(x, of, lifted)
 	if _, left, g := normal.Form(e, longer, 8*most); g == api.OK {
 		tells(t, "by what it does, or has", e, longer, 8*most, want, left)
 	}

@@ -95,6 +95,32 @@ func Growing() map[string]api.Term {
 	}
 }
 
+// Lost: terms that grow without an end, but by nothing, as contraction loses it.
+func Lost() map[string]api.Term {
+	n, f, p, again := Const("N"), Const("f"), Const("p"), App(Var(0), Var(0))
+	many := slices.Repeat([]api.Term{n}, 3000)
+	typed := func(x, y api.Term) api.Term { return Apply(Const("Pair.mk", Zero, Zero), x, y, First(p), Second(p)) }
+	return map[string]api.Term{
+		"in a domain that is lost":            Self(Lam(again, App(f, Var(0)))),
+		"in a domain that is lost, with many": Self(Lam(Apply(f, append([]api.Term{again}, many...)...), App(f, Var(0)))),
+		"in one behind many":                  Self(Lam(Apply(f, append(many, again)...), App(f, Var(0)))),
+		"in a pair's type":                    Self(typed(again, n)),
+		"in a pair's other type":              Self(typed(Apply(f, many...), again)),
+		"in lambdas":                          Self(Lam(n, App(Var(1), Var(1)))),
+	}
+}
+
+// Untyped: small terms, most of which are of no type, or none of one if they are applied to themselves, or to one another.
+func Untyped() []api.Term {
+	n, again := Const("N"), App(Var(0), Var(0))
+	recN := Const("N.rec", Zero)
+	return []api.Term{
+		Lam(n, again), Const("loose", Two), Sort(Zero), Pi(n, n), Num(1), First(Const("p")), Count(Const("a")), recN, Lam(n, Lam(n, Apply(Var(1), Var(1), Var(0)))),
+		Lam(n, Count(again)), Lam(n, First(again)), Lam(n, Lam(n, Apply(Var(1), Var(1), again))), Lam(n, Both(Var(0))),
+		Lam(n, Let(n, Var(0), again)), Lam(n, First(Var(0))), Lam(n, Apply(recN, n, Var(0), Var(0), Var(0))), Lam(n, Lam(Var(0), App(Var(1), Var(0)))),
+	}
+}
+
 // Power: the number 2 to the k-th, by the definition double.
 func Power(k int) api.Term {
 	x := Const("one")

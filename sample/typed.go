@@ -23,6 +23,25 @@ func Ample(b []byte) (x, of api.Term) {
 	return g.Term(of, Context(), 4), of
 }
 
+// Twins: two terms of one type that the bytes tell, in the context, and that type.
+func Twins(b []byte) (x, y, of api.Term) {
+	g := &Typed{Bytes{b}}
+	of = g.Type(2)
+	x = g.Term(of, Context(), 4)
+	return x, g.Term(of, Context(), 4), of
+}
+
+// Longer: a function or a pair, by what it does, or has (eta); all else is as it is. Lifted puts a term one binder further in.
+func Longer(x, of api.Term, lifted func(x api.Term) api.Term) api.Term {
+	switch {
+	case of.K == api.Pi:
+		return Lam(of.T[0], App(lifted(x), Var(0)))
+	case of.K == api.App && of.T[0].K == api.App:
+		return Apply(Const("Pair.mk", Zero, Zero), of.T[0].T[1], of.T[1], Proj("Pair", 0, x), Proj("Pair", 1, x))
+	}
+	return x
+}
+
 // Type: of which few stand in one another.
 func (g *Typed) Type(deep int) api.Term {
 	n := Const("N")

@@ -6,6 +6,7 @@ import (
 
 	"batten/api"
 	"batten/sample"
+	"batten/subst"
 )
 
 // What is read of a value, and made of what waits in it.
@@ -99,6 +100,110 @@ func TestAValueThatWaits(t *testing.T) {
 	}
 }
 
+// A value, applied to the variable of one more binder, is what its lambda has as a body, or itself, applied to that.
+func TestLonger(t *testing.T) {
+	e := basis(t)
+	l := append(sample.Redexes(), f, vr(3), lam(n, apply(vr(0), vr(1), vr(4))), lam(n, lam(n, apply(vr(0), vr(1), vr(2)))), recN, apply(recN, n, a, f), con("Pair.mk"), srt(two), pi(n, vr(0)))
+	for _, x := range l {
+		v := of(t, e, x)
+		for _, under := range []int{0, 1, 7, 1000} {
+			r, m := readerOf(300), NewMaker(100)
+			long := v.Longer(under)
+			got := r.read(m.Value(long), long.Under)
+			in, _ := subst.Lift(app(lifted(x), vr(0)), 1, under)
+			want, _, is := plain(e, in, 300)
+			if long.Under != under+1 || text(got) != text(want) || !is {
+				t.Fatalf("%s, under %d: under %d, %s, want %s", text(x), under, long.Under, text(got), text(want))
+			}
+		}
+		stands(t, text(x), e, v, x)
+	}
+	long := of(t, e, lam(n, con("one"))).Longer(4)
+	if NewMaker(1).Value(long) != nil {
+		t.Error("two steps by one")
+	}
+	m := NewMaker(2)
+	if v := m.Value(long); tells(v) != (is{api.Const, "N.succ", 1}) || m.Left() != 0 {
+		t.Errorf("%v, left %d", tells(v), m.Left())
+	}
+}
+
+// What the constructor of a structure makes of all its fields, or of more.
+func TestStructure(t *testing.T) {
+	info := func(kind uint8, name, of string, fixed, fields int, record bool) api.Info {
+		return api.Info{Kind: kind, Name: name, Type: n, Of: of, Fixed: fixed, Fields: fields, Record: record}
+	}
+	e := basis(t, append(sample.Strangers(),
+		info(api.IsType, "Unit", "Unit", 0, 0, true), info(api.IsCtor, "Unit.mk", "Unit", 0, 0, false),
+		info(api.IsType, "Two", "Two", 0, 0, true), info(api.IsCtor, "Two.a", "Two", 0, 1, false), info(api.IsCtor, "Two.b", "Two", 0, 1, false),
+		info(api.IsType, "Odd", "Odd", 3, 1, true), info(api.IsCtor, "Odd.mk", "Odd", 0, 2, false), info(api.IsCtor, "Far.mk", "none", 0, 1, false),
+		info(api.IsAxiom, "Odd.ax", "Odd", 0, 2, false), info(api.IsCtor, "One.mk", "Odd.ax", 0, 2, false))...)
+	mkPair := con("Pair.mk", zero, zero)
+	type answer struct {
+		ahead, behind int
+		is            bool
+	}
+	for what, c := range map[string]struct {
+		x    api.Term
+		want answer
+	}{
+		"a pair":                    {mk(a, a), answer{2, 0, true}},
+		"a pair by steps":           {swap(mk(a, id(a))), answer{2, 0, true}},
+		"at other levels":           {apply(con("Pair.mk"), a, a, a, a), answer{2, 0, true}},
+		"of one more":               {app(mk(a, a), n), answer{2, 1, true}},
+		"of three more":             {apply(mk(a, a), n, n, n), answer{2, 3, true}},
+		"of one fewer":              {apply(mkPair, n, n, a), answer{}},
+		"of none":                   {mkPair, answer{}},
+		"of nothing fixed":          {apply(con("Other.mk"), a, a), answer{0, 0, true}},
+		"a structure's own Fixed":   {apply(con("Odd.mk"), a, a), answer{0, 0, true}},
+		"of no fields":              {con("Unit.mk"), answer{}},
+		"of no fields, applied":     {app(con("Unit.mk"), a), answer{}},
+		"the first of two":          {app(con("Two.a"), a), answer{0, 0, true}},
+		"the second of two":         {app(con("Two.b"), a), answer{}},
+		"of no structure":           {apply(con("Plain.mk"), a, a), answer{}},
+		"of what is no type":        {apply(con("One.mk"), a, a), answer{}},
+		"of what is not there":      {app(con("Far.mk"), a), answer{}},
+		"an axiom":                  {apply(con("Odd.ax"), a, a), answer{}},
+		"a number":                  {num(1), answer{}},
+		"a list":                    {row(a), answer{}},
+		"a type":                    {sample.PairOf(n, n), answer{}},
+		"p":                         {p, answer{}},
+		"a field":                   {app(first(p), a), answer{}},
+		"of a constructor's name":   {apply(prj("Pair.mk", 0, p), n, n, a, a), answer{}},
+		"a variable":                {apply(vr(0), n, n, a, a), answer{}},
+		"a lambda of one":           {lam(n, mk(a, a)), answer{}},
+		"a recursor that is stuck":  {apply(recN, n, n, n, a), answer{}},
+		"a recursor, of a few":      {apply(recN, n, mk(a, a)), answer{}},
+		"a sort":                    {apply(srt(zero), n, n, a, a), answer{}},
+		"a name that is none, of 4": {apply(con("none"), n, n, a, a), answer{}},
+	} {
+		v, m := of(t, e, c.x), NewMaker(0)
+		for range 2 {
+			ahead, behind, is := m.Structure(e, v)
+			if (answer{ahead, behind, is}) != c.want {
+				t.Errorf("%s: %d, %d, %t, want %v", what, ahead, behind, is, c.want)
+			}
+		}
+		if _, _, is := m.Structure(filled(t), v); is {
+			t.Errorf("%s: in an environment without it", what)
+		}
+	}
+	v := of(t, e, mk(a, a))
+	for _, m := range []*Maker{nil, {}} {
+		if ahead, behind, is := m.Structure(e, v); is || ahead != 0 || behind != 0 {
+			t.Error("of no maker")
+		}
+	}
+	for _, no := range []*Value{nil, {}} {
+		if ahead, behind, is := NewMaker(1).Structure(e, no); is || ahead != 0 || behind != 0 {
+			t.Error("of no value")
+		}
+	}
+	if _, _, is := NewMaker(1).Structure(nil, v); is {
+		t.Error("of no environment")
+	}
+}
+
 // What is made of parts takes from one and the same fuel, each time as much as by itself; where that is not enough there is nothing.
 func TestTheFuelOfAMaker(t *testing.T) {
 	e := basis(t)
@@ -179,7 +284,7 @@ func TestReadOfNoValue(t *testing.T) {
 	for _, no := range []*Value{nil, {}} {
 		for _, under := range []int{0, 1, -1, math.MaxInt, math.MinInt} {
 			node, own := no.Head().Read(under)
-			if !sample.IsZero(node) || len(own) > 0 || len(no.List(under)) > 0 || NewMaker(10).Value(no.Part(under)) != nil {
+			if !sample.IsZero(node) || len(own) > 0 || len(no.List(under)) > 0 || NewMaker(10).Value(no.Part(under)) != nil || NewMaker(10).Value(no.Longer(under)) != nil {
 				t.Errorf("under %d: %s", under, text(node))
 			}
 		}

@@ -29,13 +29,15 @@ const (
 	isMajor
 	isIota
 	isField
+	isRecord
 )
 
-// answer of a rule: a term, in which the variable i is what waits as the i-th argument, or the place of an argument, below 0 if there is none.
+// answer of a rule: a term, in which the variable i is what waits as the i-th argument, or the place of an argument, below 0 if there is none; or how many there are from there on.
 type answer struct {
-	t  api.Term
-	at int
-	f  api.Errno
+	t    api.Term
+	at   int
+	many int
+	f    api.Errno
 }
 
 // delta: the value of a Const.
@@ -70,6 +72,17 @@ func (l told) field(e *env.Env, p, c *api.Term, args int) int {
 		x, is := rules.Field(e, p.S, p.N, shape(c, 0, args))
 		return place(x.N, is)
 	}).at
+}
+
+// record: where the fields of a structure's constructor begin, and how many it has; a place below 0 of anything else, and of one without fields.
+func (l told) record(e *env.Env, c *api.Term) *answer {
+	return l.once(question{rule: isRecord, e: e}, c, func() answer {
+		x, _ := e.Find(c.S)
+		r, is := rules.Record(e, x.Of)
+		a := place(x.Fixed, is && x.Kind == api.IsCtor && r.Name == x.Name && r.Fields > 0)
+		a.many = x.Fields
+		return a
+	})
 }
 
 func place(at int, is bool) answer {
